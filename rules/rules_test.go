@@ -58,9 +58,19 @@ func TestTold(t *testing.T) {
 	}
 }
 
-// P3: the constants of stage 1.
+// P3: the constants of the stages that have landed.
 func TestLimits(t *testing.T) {
-	if api.MaxList != 200 {
-		t.Errorf("MaxList is %d", api.MaxList)
+	cases := []struct {
+		name      string
+		got, want int
+	}{
+		{"MaxList", api.MaxList, 200},
+		{"Base", api.Base, 257},
+		{"Modulo", api.Modulo, 1000003},
+	}
+	for _, c := range cases {
+		if c.got != c.want {
+			t.Errorf("%s is %d, want %d", c.name, c.got, c.want)
+		}
 	}
 }
