@@ -9,6 +9,7 @@ import (
 	"stileward/api"
 	"stileward/pack"
 	"stileward/plain"
+	"stileward/sample"
 )
 
 // numbers and their texts, with both ends of every length.
@@ -108,21 +109,6 @@ func TestReadNumErrors(t *testing.T) {
 	}
 }
 
-// upTo returns all texts of at most n bytes over some bytes.
-func upTo(n int, bytes string) []string {
-	texts := []string{""}
-	for begin := 0; n > 0; n-- {
-		end := len(texts)
-		for _, text := range texts[begin:end] {
-			for i := range len(bytes) {
-				texts = append(texts, text+bytes[i:i+1])
-			}
-		}
-		begin = end
-	}
-	return texts
-}
-
 // readSlowly follows the words of 1.1: the digits are cut out first, and weighed behind that.
 func readSlowly(s string) (int, int, api.Errno) {
 	used := 1 + slices.IndexFunc([]byte(s), func(b byte) bool { return b < 128 })
@@ -141,13 +127,9 @@ func readSlowly(s string) (int, int, api.Errno) {
 
 // 1.1: ReadNum of all short texts, and of long ones, does what the words say.
 func TestReadNumAll(t *testing.T) {
-	all := make([]byte, 256)
-	for i := range all {
-		all[i] = byte(i)
-	}
-	texts := upTo(2, string(all))
-	texts = append(texts, upTo(5, "\x00\x01\x7f\x80\x81\xff")...)
-	texts = append(texts, upTo(11, "\x00\xff")...)
+	texts := sample.Texts(2, sample.Bytes())
+	texts = append(texts, sample.Texts(5, "\x00\x01\x7f\x80\x81\xff")...)
+	texts = append(texts, sample.Texts(11, "\x00\xff")...)
 	for _, s := range texts {
 		n, used, err := pack.ReadNum(s)
 		wantN, wantUsed, want := readSlowly(s)
@@ -265,7 +247,7 @@ func TestReadListErrors(t *testing.T) {
 
 // 1.2: ReadList is ReadNum of the number of elements, and of each element in order.
 func TestReadListAll(t *testing.T) {
-	for _, s := range upTo(6, "\x00\x01\x02\x80\xff") {
+	for _, s := range sample.Texts(6, "\x00\x01\x02\x80\xff") {
 		got, used, err := pack.ReadList(s)
 		want, wantUsed, wantErr := readListSlowly(s)
 		if !slices.Equal(got, want) || used != wantUsed || plain.Told(err) != wantErr {

@@ -65,6 +65,7 @@ func TestLimits(t *testing.T) {
 		got, want int
 	}{
 		{"MaxList", api.MaxList, 200},
+		{"MaxBody", api.MaxBody, 200},
 		{"Base", api.Base, 257},
 		{"Modulo", api.Modulo, 1000003},
 	}

@@ -8,6 +8,7 @@ import (
 
 	"stileward/api"
 	"stileward/plain"
+	"stileward/sample"
 	"stileward/sum"
 )
 
@@ -17,15 +18,6 @@ const (
 	// period is the least power of Base that is 1 again.
 	period = 166667
 )
-
-// allBytes returns the string of all bytes in order.
-func allBytes() string {
-	b := make([]byte, 256)
-	for i := range b {
-		b[i] = byte(i)
-	}
-	return string(b)
-}
 
 // ofSlowly adds up the bytes, each times its power of 257, and divides once at the end.
 func ofSlowly(s string) int {
@@ -40,21 +32,6 @@ func ofSlowly(s string) int {
 // power returns 257 to the power n, modulo 1000003.
 func power(n int) int {
 	return int(new(big.Int).Exp(big.NewInt(257), big.NewInt(int64(n)), big.NewInt(1000003)).Int64())
-}
-
-// texts returns all strings of at most n bytes over some bytes.
-func texts(n int, bytes string) []string {
-	all := []string{""}
-	for begin := 0; n > 0; n-- {
-		end := len(all)
-		for _, s := range all[begin:end] {
-			for i := range len(bytes) {
-				all = append(all, s+bytes[i:i+1])
-			}
-		}
-		begin = end
-	}
-	return all
 }
 
 // 2.1: Of adds each byte plus 1, times Base, modulo Modulo.
@@ -77,7 +54,7 @@ func TestOf(t *testing.T) {
 		{"\xff\xff\xff", 974544},
 		{"stileward", 569521},
 		{"\xc3\xa9", 50542},
-		{allBytes(), 295153},
+		{sample.Bytes(), 295153},
 	}
 	for _, c := range cases {
 		if got := sum.Of(c.s); got != c.want {
@@ -88,7 +65,7 @@ func TestOf(t *testing.T) {
 
 // 2.1: Of every string of one or two bytes, and of longer ones, is what the words say.
 func TestOfAll(t *testing.T) {
-	all := append(texts(2, allBytes()), texts(5, "\x00\x01a\x80\xff")...)
+	all := append(sample.Texts(2, sample.Bytes()), sample.Texts(5, "\x00\x01a\x80\xff")...)
 	for n := range 600 {
 		all = append(all, strings.Repeat("\xff", n))
 	}
@@ -156,7 +133,7 @@ func TestJoinLengths(t *testing.T) {
 
 // 2.1: Join of two checksums is the checksum of the two strings in a row.
 func TestJoinIsConcatenation(t *testing.T) {
-	pieces := append(texts(3, "\x00a\xff"), allBytes(), strings.Repeat("\xff", 1000))
+	pieces := append(sample.Texts(3, "\x00a\xff"), sample.Bytes(), strings.Repeat("\xff", 1000))
 	for _, first := range pieces {
 		for _, second := range pieces {
 			got, err := sum.Join(sum.Of(first), sum.Of(second), len(second))
@@ -234,7 +211,7 @@ func TestRollLengths(t *testing.T) {
 
 // 2.2: a rolled checksum is the checksum of the moved window.
 func TestRollIsWindow(t *testing.T) {
-	text := allBytes() + "a policy on words of events" + strings.Repeat("\xff\x00", 40)
+	text := sample.Bytes() + "a policy on words of events" + strings.Repeat("\xff\x00", 40)
 	for _, n := range []int{1, 2, 3, 7, 100, len(text) - 1} {
 		rolled := sum.Of(text[:n])
 		for end := n; end < len(text); end++ {
