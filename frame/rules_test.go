@@ -1,7 +1,6 @@
 package frame_test
 
 import (
-	"errors"
 	"slices"
 	"strings"
 	"testing"
@@ -10,6 +9,7 @@ import (
 	"stileward/api"
 	"stileward/frame"
 	"stileward/plain"
+	"stileward/sample"
 )
 
 // P1: whatever the text, all functions return normally and do what the words say.
@@ -152,14 +152,8 @@ func TestErrorsAreErrnos(t *testing.T) {
 
 func checkErrno(t *testing.T, name string, err error, want api.Errno) {
 	t.Helper()
-	for e := api.OK; e <= api.ErrLate; e++ {
-		if errors.Is(err, e) != (e == want) {
-			t.Errorf("%s: is %v the error %v: %v", name, err, e, errors.Is(err, e))
-		}
-	}
-	var e api.Errno
-	if !errors.As(err, &e) || e != want {
-		t.Errorf("%s: %v is no Errno %v", name, err, want)
+	if !sample.OnlyErrno(err, want) {
+		t.Errorf("%s: %v is not the Errno %v alone", name, err, want)
 	}
 }
 

@@ -9,6 +9,7 @@ import (
 
 	"stileward/api"
 	"stileward/pack"
+	"stileward/sample"
 )
 
 // P1: whatever the text, both readers return normally, and within it; with an
@@ -133,14 +134,8 @@ func TestErrorsAreErrnos(t *testing.T) {
 		{tooMany, api.ErrFull},
 	}
 	for _, c := range cases {
-		for e := api.OK; e <= api.ErrLate; e++ {
-			if errors.Is(c.err, e) != (e == c.want) {
-				t.Errorf("is %v the error %v: %v", c.err, e, errors.Is(c.err, e))
-			}
-		}
-		var e api.Errno
-		if !errors.As(c.err, &e) || e != c.want {
-			t.Errorf("%v is no Errno %v", c.err, c.want)
+		if !sample.OnlyErrno(c.err, c.want) {
+			t.Errorf("%v is not the Errno %v alone", c.err, c.want)
 		}
 	}
 }

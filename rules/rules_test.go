@@ -68,6 +68,8 @@ func TestLimits(t *testing.T) {
 		{"MaxBody", api.MaxBody, 200},
 		{"Base", api.Base, 257},
 		{"Modulo", api.Modulo, 1000003},
+		{"MaxLetters", api.MaxLetters, 6},
+		{"MaxWord", api.MaxWord, 80},
 	}
 	for _, c := range cases {
 		if c.got != c.want {

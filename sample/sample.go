@@ -1,5 +1,13 @@
-// Package sample makes the texts that the tests of several packages go through.
+// Package sample makes the texts and words that the tests of several packages go
+// through, and has what these tests ask of errors and memory.
 package sample
+
+import (
+	"errors"
+	"slices"
+
+	"stileward/api"
+)
 
 // Bytes returns the text of all bytes in order.
 func Bytes() string {
@@ -23,4 +31,44 @@ func Texts(n int, bytes string) []string {
 		begin = end
 	}
 	return texts
+}
+
+// Word returns the word whose letters are the bytes of a text, as numbers from -128 to 127.
+func Word(text string) []int {
+	w := make([]int, len(text))
+	for i := range w {
+		w[i] = int(int8(text[i]))
+	}
+	return w
+}
+
+// Words returns all words of at most n letters, in length-lexicographic order.
+func Words(n, letters int) [][]int {
+	var words [][]int
+	for _, text := range Texts(n, Bytes()[:letters]) {
+		words = append(words, Word(text))
+	}
+	return words
+}
+
+// behind is what no function may find behind the end of an argument.
+const behind = -7
+
+// Roomy returns a word with memory behind its end, and a function that tells
+// whether the word and that memory are still as they were.
+func Roomy(w []int) ([]int, func() bool) {
+	memory := append(slices.Clone(w), slices.Repeat([]int{behind}, len(w)+9)...)
+	before := slices.Clone(memory)
+	return memory[:len(w)], func() bool { return slices.Equal(memory, before) }
+}
+
+// OnlyErrno tells whether an error is, or wraps, one Errno and no other one.
+func OnlyErrno(err error, want api.Errno) bool {
+	for e := api.OK; e <= api.ErrLate; e++ {
+		if errors.Is(err, e) != (e == want) {
+			return false
+		}
+	}
+	var e api.Errno
+	return errors.As(err, &e) && e == want
 }

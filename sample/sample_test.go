@@ -1,9 +1,11 @@
 package sample_test
 
 import (
+	"errors"
 	"slices"
 	"testing"
 
+	"stileward/api"
 	"stileward/sample"
 )
 
@@ -37,6 +39,80 @@ func TestTexts(t *testing.T) {
 	for _, c := range cases {
 		if got := sample.Texts(c.n, c.bytes); !slices.Equal(got, c.want) {
 			t.Errorf("Texts(%d, %q) = %q, want %q", c.n, c.bytes, got, c.want)
+		}
+	}
+}
+
+// Word has a number for each byte.
+func TestWord(t *testing.T) {
+	if got := sample.Word("\x05\x00\x7f\x80\xff"); !slices.Equal(got, []int{5, 0, 127, -128, -1}) {
+		t.Errorf("Word = %v", got)
+	}
+	if got := sample.Word(""); len(got) != 0 {
+		t.Errorf("Word of no byte = %v", got)
+	}
+}
+
+// Words has each short word once, the shorter words first.
+func TestWords(t *testing.T) {
+	cases := []struct {
+		n, letters int
+		want       [][]int
+	}{
+		{0, 2, [][]int{{}}},
+		{2, 1, [][]int{{}, {0}, {0, 0}}},
+		{2, 2, [][]int{{}, {0}, {1}, {0, 0}, {0, 1}, {1, 0}, {1, 1}}},
+		{1, 3, [][]int{{}, {0}, {1}, {2}}},
+	}
+	for _, c := range cases {
+		if got := sample.Words(c.n, c.letters); !slices.EqualFunc(got, c.want, slices.Equal) {
+			t.Errorf("Words(%d, %d) = %v, want %v", c.n, c.letters, got, c.want)
+		}
+	}
+}
+
+// Roomy has the word with memory behind it, and tells of each change.
+func TestRoomy(t *testing.T) {
+	for _, w := range [][]int{nil, {0}, {2, 1, 0}} {
+		got, intact := sample.Roomy(w)
+		if !slices.Equal(got, w) || cap(got) <= len(got) || !intact() {
+			t.Fatalf("Roomy(%v) = %v with %d elements of memory, intact: %v", w, got, cap(got), intact())
+		}
+		memory := got[:2*len(w)+9]
+		for i := range memory {
+			memory[i]++
+			if intact() {
+				t.Errorf("a change of element %d of %v is not seen", i, w)
+			}
+			memory[i]--
+		}
+	}
+}
+
+type wrapped struct{ inner error }
+
+func (w wrapped) Error() string { return "wrapped" }
+func (w wrapped) Unwrap() error { return w.inner }
+
+// OnlyErrno wants the one Errno, be it wrapped or not.
+func TestOnlyErrno(t *testing.T) {
+	cases := []struct {
+		err  error
+		want api.Errno
+		only bool
+	}{
+		{api.ErrRange, api.ErrRange, true},
+		{wrapped{api.ErrRange}, api.ErrRange, true},
+		{api.ErrRange, api.ErrFull, false},
+		{wrapped{api.ErrRange}, api.ErrFull, false},
+		{errors.Join(api.ErrRange, api.ErrFull), api.ErrRange, false},
+		{errors.Join(api.ErrRange, api.ErrFull), api.ErrFull, false},
+		{errors.New("another"), api.ErrRange, false},
+		{nil, api.ErrRange, false},
+	}
+	for _, c := range cases {
+		if sample.OnlyErrno(c.err, c.want) != c.only {
+			t.Errorf("OnlyErrno(%v, %v) = %v", c.err, c.want, !c.only)
 		}
 	}
 }

@@ -1,0 +1,168 @@
+package word_test
+
+import (
+	"slices"
+	"testing"
+
+	"stileward/api"
+	"stileward/plain"
+	"stileward/sample"
+	"stileward/word"
+)
+
+// P1: whatever the arguments, all functions return normally and do what the words say.
+func FuzzWords(f *testing.F) {
+	f.Add(1, "", "", 0)
+	f.Add(2, "\x00\x01", "\x00\x00\x01\x01", 2)
+	f.Add(6, "\x05\x04\x03\x02\x01\x00", "\x05\x04\x03\x02\x00\x01", 63)
+	f.Add(3, "\xff", "\x03", -1)
+	f.Add(-1, "\x80", "\x7f", 64)
+	f.Fuzz(func(t *testing.T, letters int, first, second string, set int) {
+		v, w := sample.Word(first), sample.Word(second)
+		want := checkSlowly(letters, v)
+		if err := word.Check(letters, v); plain.Told(err) != want {
+			t.Errorf("Check(%d, %v) = %v, want %v", letters, v, err, want)
+		}
+		got, err := word.Only(letters, v, set)
+		left, want := onlySlowly(letters, v, set)
+		if !slices.Equal(got, left) || plain.Told(err) != want {
+			t.Errorf("Only(%d, %v, %d) = %v, %v, want %v, %v", letters, v, set, got, err, left, want)
+		}
+		got, err = word.Mirror(letters, v)
+		mirrored, want := mirrorSlowly(letters, v)
+		if !slices.Equal(got, mirrored) || plain.Told(err) != want {
+			t.Errorf("Mirror(%d, %v) = %v, %v, want %v, %v", letters, v, got, err, mirrored, want)
+		}
+		checkPair(t, letters, v, w)
+	})
+}
+
+// checkPair demands of Sub and Less what the words say. It compares Sub only
+// for short words, as the slow way takes too long for others.
+func checkPair(t *testing.T, letters int, v, w []int) {
+	want := bothSlowly(letters, v, w)
+	is, err := word.Sub(letters, v, w)
+	if plain.Told(err) != want || err != nil && is {
+		t.Errorf("Sub(%d, %v, %v) = %v, %v, want %v", letters, v, w, is, err, want)
+	}
+	if err == nil && len(w) < 16 && is != remains(v, w) {
+		t.Errorf("Sub(%d, %v, %v) = %v", letters, v, w, is)
+	}
+	is, err = word.Less(letters, v, w)
+	if plain.Told(err) != want || err != nil && is {
+		t.Errorf("Less(%d, %v, %v) = %v, %v, want %v", letters, v, w, is, err, want)
+	}
+	if err == nil && is != lessSlowly(v, w) {
+		t.Errorf("Less(%d, %v, %v) = %v", letters, v, w, is)
+	}
+}
+
+// P2, P4: all functions leave their arguments and what is behind them as they are, and read nothing there.
+func TestArgumentsAreLeft(t *testing.T) {
+	for _, c := range checks {
+		w, intact := sample.Roomy(c.w)
+		other, otherIntact := sample.Roomy([]int{0, 0})
+		got, err := word.Only(c.letters, w, 1)
+		if want, wrong := onlySlowly(c.letters, c.w, 1); !slices.Equal(got, want) || plain.Told(err) != wrong {
+			t.Errorf("%s: Only = %v, %v, want %v, %v", c.name, got, err, want, wrong)
+		}
+		got, err = word.Mirror(c.letters, w)
+		if want, wrong := mirrorSlowly(c.letters, c.w); !slices.Equal(got, want) || plain.Told(err) != wrong {
+			t.Errorf("%s: Mirror = %v, %v, want %v, %v", c.name, got, err, want, wrong)
+		}
+		if err := word.Check(c.letters, w); plain.Told(err) != c.want {
+			t.Errorf("%s: Check = %v", c.name, err)
+		}
+		if is, err := word.Sub(c.letters, w, w); is != (c.want == api.OK) || plain.Told(err) != c.want {
+			t.Errorf("%s: Sub = %v, %v", c.name, is, err)
+		}
+		if is, err := word.Less(c.letters, w, w); is || plain.Told(err) != c.want {
+			t.Errorf("%s: Less = %v, %v", c.name, is, err)
+		}
+		checkPair(t, c.letters, w, other)
+		checkPair(t, c.letters, other, w)
+		if !intact() || !otherIntact() {
+			t.Errorf("%s: an argument, or memory behind it, is changed", c.name)
+		}
+	}
+}
+
+// P2: results share no memory with arguments or with each other, not even behind their ends.
+func TestResultsAreNew(t *testing.T) {
+	calls := []struct {
+		name string
+		call func(w []int) ([]int, error)
+	}{
+		{"Only", func(w []int) ([]int, error) { return word.Only(3, w, 7) }},
+		{"Only some", func(w []int) ([]int, error) { return word.Only(3, w, 4) }},
+		{"Only none", func(w []int) ([]int, error) { return word.Only(3, w, 0) }},
+		{"Mirror", func(w []int) ([]int, error) { return word.Mirror(3, w) }},
+	}
+	for _, c := range calls {
+		for _, w := range [][]int{nil, {}, {1}, {2, 1}, {2, 0, 1, 2, 2}} {
+			argument, intact := sample.Roomy(w)
+			first, err := c.call(argument)
+			want := slices.Clone(first)
+			for i := range cap(first) {
+				first[:cap(first)][i] = -1
+			}
+			second, wrong := c.call(argument)
+			if !slices.Equal(second, want) || err != nil || wrong != nil {
+				t.Errorf("%s of %v is first %v, %v and then %v, %v", c.name, w, want, err, second, wrong)
+			}
+			for i := range cap(second) {
+				second[:cap(second)][i] = -2
+			}
+			if slices.Contains(first[:cap(first)], -2) || !intact() {
+				t.Errorf("%s of %v shares memory", c.name, w)
+			}
+		}
+	}
+}
+
+// P2: what was returned does not change when the argument does later.
+func TestNothingIsKept(t *testing.T) {
+	w := []int{0, 1, 2}
+	left, err := word.Only(3, w, 5)
+	mirrored, wrong := word.Mirror(3, w)
+	w[0], w[1], w[2] = 1, 1, 1
+	if !slices.Equal(left, []int{0, 2}) || !slices.Equal(mirrored, []int{2, 1, 0}) || err != nil || wrong != nil {
+		t.Errorf("Only became %v, %v, Mirror %v, %v", left, err, mirrored, wrong)
+	}
+}
+
+// P3: each error is, or wraps, the Errno that it stands for, and no other one.
+func TestErrorsAreErrnos(t *testing.T) {
+	for _, c := range checks {
+		if c.want == api.OK {
+			continue
+		}
+		check := word.Check(c.letters, c.w)
+		_, only := word.Only(c.letters, c.w, 0)
+		_, mirror := word.Mirror(c.letters, c.w)
+		_, sub := word.Sub(c.letters, c.w, nil)
+		_, less := word.Less(c.letters, c.w, nil)
+		for i, err := range []error{check, only, mirror, sub, less} {
+			if !sample.OnlyErrno(err, c.want) {
+				t.Errorf("%s: error %d is %v, not %v alone", c.name, i, err, c.want)
+			}
+		}
+	}
+	if _, err := word.Only(1, nil, 2); !sample.OnlyErrno(err, api.ErrRange) {
+		t.Errorf("Only = %v, not ErrRange alone", err)
+	}
+}
+
+// P5: long arguments are no obstacle.
+func TestLong(t *testing.T) {
+	long := make([]int, 1<<24)
+	_, only := word.Only(1, long, 2)
+	_, mirror := word.Mirror(1, long)
+	_, sub := word.Sub(1, nil, long)
+	_, less := word.Less(1, long, nil)
+	for i, err := range []error{word.Check(1, long), only, mirror, sub, less} {
+		if !sample.OnlyErrno(err, api.ErrFull) {
+			t.Errorf("error %d is %v", i, err)
+		}
+	}
+}
