@@ -51,6 +51,16 @@ func Words(n, letters int) [][]int {
 	return words
 }
 
+// Repeated returns the word of n times one letter.
+func Repeated(n, letter int) []int { return slices.Repeat([]int{letter}, n) }
+
+// Replaced returns a word with another number at one place.
+func Replaced(w []int, at, number int) []int {
+	w = slices.Clone(w)
+	w[at] = number
+	return w
+}
+
 // behind is what no function may find behind the end of an argument.
 const behind = -7
 

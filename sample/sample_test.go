@@ -71,6 +71,44 @@ func TestWords(t *testing.T) {
 	}
 }
 
+// Repeated has one letter at each place.
+func TestRepeated(t *testing.T) {
+	for n, want := range [][]int{nil, {5}, {5, 5}, {5, 5, 5}} {
+		if got := sample.Repeated(n, 5); !slices.Equal(got, want) {
+			t.Errorf("Repeated(%d, 5) = %v, want %v", n, got, want)
+		}
+	}
+}
+
+// Replaced has the number at its place, and leaves the word as it is.
+func TestReplaced(t *testing.T) {
+	w := []int{0, 1, 2}
+	for at, want := range [][]int{{7, 1, 2}, {0, 7, 2}, {0, 1, 7}} {
+		if got := sample.Replaced(w, at, 7); !slices.Equal(got, want) {
+			t.Errorf("Replaced(%v, %d, 7) = %v, want %v", w, at, got, want)
+		}
+	}
+	if !slices.Equal(w, []int{0, 1, 2}) {
+		t.Errorf("the word became %v", w)
+	}
+}
+
+// Checks has words with each error of word.Check and with none, each under a name of its own.
+func TestChecks(t *testing.T) {
+	names := map[string]bool{}
+	found := map[api.Errno]int{}
+	for _, c := range sample.Checks() {
+		if names[c.Name] {
+			t.Errorf("two words have the name %q", c.Name)
+		}
+		names[c.Name] = true
+		found[c.Want]++
+	}
+	if len(found) != 3 || found[api.OK] == 0 || found[api.ErrRange] == 0 || found[api.ErrFull] == 0 {
+		t.Errorf("the words have these errors: %v", found)
+	}
+}
+
 // Roomy has the word with memory behind it, and tells of each change.
 func TestRoomy(t *testing.T) {
 	for _, w := range [][]int{nil, {0}, {2, 1, 0}} {

@@ -59,30 +59,30 @@ func checkPair(t *testing.T, letters int, v, w []int) {
 
 // P2, P4: all functions leave their arguments and what is behind them as they are, and read nothing there.
 func TestArgumentsAreLeft(t *testing.T) {
-	for _, c := range checks {
-		w, intact := sample.Roomy(c.w)
+	for _, c := range sample.Checks() {
+		w, intact := sample.Roomy(c.Word)
 		other, otherIntact := sample.Roomy([]int{0, 0})
-		got, err := word.Only(c.letters, w, 1)
-		if want, wrong := onlySlowly(c.letters, c.w, 1); !slices.Equal(got, want) || plain.Told(err) != wrong {
-			t.Errorf("%s: Only = %v, %v, want %v, %v", c.name, got, err, want, wrong)
+		got, err := word.Only(c.Letters, w, 1)
+		if want, wrong := onlySlowly(c.Letters, c.Word, 1); !slices.Equal(got, want) || plain.Told(err) != wrong {
+			t.Errorf("%s: Only = %v, %v, want %v, %v", c.Name, got, err, want, wrong)
 		}
-		got, err = word.Mirror(c.letters, w)
-		if want, wrong := mirrorSlowly(c.letters, c.w); !slices.Equal(got, want) || plain.Told(err) != wrong {
-			t.Errorf("%s: Mirror = %v, %v, want %v, %v", c.name, got, err, want, wrong)
+		got, err = word.Mirror(c.Letters, w)
+		if want, wrong := mirrorSlowly(c.Letters, c.Word); !slices.Equal(got, want) || plain.Told(err) != wrong {
+			t.Errorf("%s: Mirror = %v, %v, want %v, %v", c.Name, got, err, want, wrong)
 		}
-		if err := word.Check(c.letters, w); plain.Told(err) != c.want {
-			t.Errorf("%s: Check = %v", c.name, err)
+		if err := word.Check(c.Letters, w); plain.Told(err) != c.Want {
+			t.Errorf("%s: Check = %v", c.Name, err)
 		}
-		if is, err := word.Sub(c.letters, w, w); is != (c.want == api.OK) || plain.Told(err) != c.want {
-			t.Errorf("%s: Sub = %v, %v", c.name, is, err)
+		if is, err := word.Sub(c.Letters, w, w); is != (c.Want == api.OK) || plain.Told(err) != c.Want {
+			t.Errorf("%s: Sub = %v, %v", c.Name, is, err)
 		}
-		if is, err := word.Less(c.letters, w, w); is || plain.Told(err) != c.want {
-			t.Errorf("%s: Less = %v, %v", c.name, is, err)
+		if is, err := word.Less(c.Letters, w, w); is || plain.Told(err) != c.Want {
+			t.Errorf("%s: Less = %v, %v", c.Name, is, err)
 		}
-		checkPair(t, c.letters, w, other)
-		checkPair(t, c.letters, other, w)
+		checkPair(t, c.Letters, w, other)
+		checkPair(t, c.Letters, other, w)
 		if !intact() || !otherIntact() {
-			t.Errorf("%s: an argument, or memory behind it, is changed", c.name)
+			t.Errorf("%s: an argument, or memory behind it, is changed", c.Name)
 		}
 	}
 }
@@ -133,18 +133,18 @@ func TestNothingIsKept(t *testing.T) {
 
 // P3: each error is, or wraps, the Errno that it stands for, and no other one.
 func TestErrorsAreErrnos(t *testing.T) {
-	for _, c := range checks {
-		if c.want == api.OK {
+	for _, c := range sample.Checks() {
+		if c.Want == api.OK {
 			continue
 		}
-		check := word.Check(c.letters, c.w)
-		_, only := word.Only(c.letters, c.w, 0)
-		_, mirror := word.Mirror(c.letters, c.w)
-		_, sub := word.Sub(c.letters, c.w, nil)
-		_, less := word.Less(c.letters, c.w, nil)
+		check := word.Check(c.Letters, c.Word)
+		_, only := word.Only(c.Letters, c.Word, 0)
+		_, mirror := word.Mirror(c.Letters, c.Word)
+		_, sub := word.Sub(c.Letters, c.Word, nil)
+		_, less := word.Less(c.Letters, c.Word, nil)
 		for i, err := range []error{check, only, mirror, sub, less} {
-			if !sample.OnlyErrno(err, c.want) {
-				t.Errorf("%s: error %d is %v, not %v alone", c.name, i, err, c.want)
+			if !sample.OnlyErrno(err, c.Want) {
+				t.Errorf("%s: error %d is %v, not %v alone", c.Name, i, err, c.Want)
 			}
 		}
 	}

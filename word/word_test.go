@@ -11,75 +11,14 @@ import (
 	"stileward/word"
 )
 
-// repeated returns a word of n times one letter.
-func repeated(n, letter int) []int { return slices.Repeat([]int{letter}, n) }
-
-// replaced returns a word with another number at one place.
-func replaced(w []int, at, number int) []int {
-	w = slices.Clone(w)
-	w[at] = number
-	return w
-}
-
 // noLetters are numbers that are letters of no word.
 var noLetters = []int{math.MinInt, -1 << 32, -256, -6, -1, 6, 7, 64, 256, 1 << 32, math.MaxInt}
 
-// checks are words, and what Check finds.
-var checks = []struct {
-	name    string
-	letters int
-	w       []int
-	want    api.Errno
-}{
-	{"no letter in nil", 1, nil, api.OK},
-	{"no letter in a word", 6, []int{}, api.OK},
-	{"one letter", 1, []int{0}, api.OK},
-	{"two letters", 2, []int{1, 0}, api.OK},
-	{"all letters", 6, []int{0, 1, 2, 3, 4, 5}, api.OK},
-	{"all letters backwards", 6, []int{5, 4, 3, 2, 1, 0}, api.OK},
-	{"79 letters", 1, repeated(79, 0), api.OK},
-	{"80 letters", 1, repeated(80, 0), api.OK},
-	{"80 last letters", 6, repeated(80, 5), api.OK},
-
-	{"no alphabet", 0, nil, api.ErrRange},
-	{"no alphabet of a letter", 0, []int{0}, api.ErrRange},
-	{"no alphabet of a long word", 0, repeated(81, 0), api.ErrRange},
-	{"negative alphabet", -1, nil, api.ErrRange},
-	{"negative alphabet of a long word", -1, repeated(81, -2), api.ErrRange},
-	{"least alphabet", math.MinInt, nil, api.ErrRange},
-	{"alphabet of 7", 7, nil, api.ErrRange},
-	{"alphabet of 7 with all letters", 7, []int{0, 1, 2, 3, 4, 5, 6}, api.ErrRange},
-	{"alphabet of 7 of a long word", 7, repeated(81, 0), api.ErrRange},
-	{"alphabet of 64", 64, []int{0}, api.ErrRange},
-	{"alphabet of 257", 257, []int{0}, api.ErrRange},
-	{"great alphabet", 1<<32 + 1, []int{0}, api.ErrRange},
-	{"greatest alphabet", math.MaxInt, []int{0}, api.ErrRange},
-
-	{"81 letters", 1, repeated(81, 0), api.ErrFull},
-	{"82 letters", 6, repeated(82, 5), api.ErrFull},
-	{"160 letters", 2, repeated(160, 1), api.ErrFull},
-	{"256 letters", 1, repeated(256, 0), api.ErrFull},
-	{"81 elements that are no letters", 1, repeated(81, 1), api.ErrFull},
-	{"81 elements, the first of them no letter", 6, replaced(repeated(81, 0), 0, -1), api.ErrFull},
-	{"81 elements, the last of them no letter", 6, replaced(repeated(81, 0), 80, 6), api.ErrFull},
-
-	{"letter 1 of 1", 1, []int{1}, api.ErrRange},
-	{"letter 2 of 2", 2, []int{0, 1, 2}, api.ErrRange},
-	{"letter 3 of 3", 3, []int{0, 3, 2}, api.ErrRange},
-	{"letter 4 of 4", 4, []int{4, 3, 2}, api.ErrRange},
-	{"letter 5 of 5", 5, []int{4, 5}, api.ErrRange},
-	{"letter 5 of 4", 4, []int{5}, api.ErrRange},
-	{"letter 6 of 6", 6, []int{6, 5}, api.ErrRange},
-	{"80 elements, the first of them no letter", 6, replaced(repeated(80, 0), 0, 6), api.ErrRange},
-	{"80 elements, the last of them no letter", 6, replaced(repeated(80, 0), 79, -1), api.ErrRange},
-	{"80 elements that are no letters", 5, repeated(80, 5), api.ErrRange},
-}
-
 // 4.1: what Check finds, and what it finds first.
 func TestCheck(t *testing.T) {
-	for _, c := range checks {
-		if err := word.Check(c.letters, c.w); plain.Told(err) != c.want {
-			t.Errorf("%s: Check(%d, %v) = %v, want %v", c.name, c.letters, c.w, err, c.want)
+	for _, c := range sample.Checks() {
+		if err := word.Check(c.Letters, c.Word); plain.Told(err) != c.Want {
+			t.Errorf("%s: Check(%d, %v) = %v, want %v", c.Name, c.Letters, c.Word, err, c.Want)
 		}
 	}
 }
@@ -90,7 +29,7 @@ func TestCheckPlaces(t *testing.T) {
 		for _, length := range []int{1, 2, 7, 80} {
 			for at := range length {
 				for _, number := range append(noLetters, letters) {
-					w := replaced(repeated(length, letters-1), at, number)
+					w := sample.Replaced(sample.Repeated(length, letters-1), at, number)
 					if err := word.Check(letters, w); plain.Told(err) != api.ErrRange {
 						t.Fatalf("Check(%d, %v) = %v, want ErrRange", letters, w, err)
 					}
@@ -128,8 +67,8 @@ func TestOnly(t *testing.T) {
 		{6, all, 42, []int{5, 1, 3, 5}},
 		{6, all, 62, []int{5, 4, 1, 3, 2, 2, 5}},
 		{6, all, 63, all},
-		{6, repeated(80, 5), 32, repeated(80, 5)},
-		{6, repeated(80, 5), 31, nil},
+		{6, sample.Repeated(80, 5), 32, sample.Repeated(80, 5)},
+		{6, sample.Repeated(80, 5), 31, nil},
 	}
 	for _, c := range cases {
 		got, err := word.Only(c.letters, c.w, c.set)
@@ -141,15 +80,15 @@ func TestOnly(t *testing.T) {
 
 // 4.1: the errors of Only are those of Check, whatever the set.
 func TestOnlyCheck(t *testing.T) {
-	for _, c := range checks {
+	for _, c := range sample.Checks() {
 		for _, set := range []int{0, 1, -1, 64, math.MinInt, math.MaxInt} {
-			want := c.want
+			want := c.Want
 			if want == api.OK && (set < 0 || set > 1) {
 				want = api.ErrRange
 			}
-			got, err := word.Only(c.letters, c.w, set)
+			got, err := word.Only(c.Letters, c.Word, set)
 			if plain.Told(err) != want || err != nil && len(got) > 0 {
-				t.Errorf("%s: Only(%d, %v, %d) = %v, %v, want %v", c.name, c.letters, c.w, set, got, err, want)
+				t.Errorf("%s: Only(%d, %v, %d) = %v, %v, want %v", c.Name, c.Letters, c.Word, set, got, err, want)
 			}
 		}
 	}
@@ -206,8 +145,8 @@ func TestMirror(t *testing.T) {
 		{3, []int{0, 0, 2, 1, 1}, []int{1, 1, 2, 0, 0}},
 		{3, []int{2, 1, 2}, []int{2, 1, 2}},
 		{6, []int{0, 1, 2, 3, 4, 5}, []int{5, 4, 3, 2, 1, 0}},
-		{2, replaced(repeated(80, 0), 0, 1), replaced(repeated(80, 0), 79, 1)},
-		{2, replaced(repeated(80, 0), 79, 1), replaced(repeated(80, 0), 0, 1)},
+		{2, sample.Replaced(sample.Repeated(80, 0), 0, 1), sample.Replaced(sample.Repeated(80, 0), 79, 1)},
+		{2, sample.Replaced(sample.Repeated(80, 0), 79, 1), sample.Replaced(sample.Repeated(80, 0), 0, 1)},
 	}
 	for _, c := range cases {
 		got, err := word.Mirror(c.letters, c.w)
@@ -219,10 +158,10 @@ func TestMirror(t *testing.T) {
 
 // 4.1: the errors of Mirror are those of Check.
 func TestMirrorCheck(t *testing.T) {
-	for _, c := range checks {
-		got, err := word.Mirror(c.letters, c.w)
-		if plain.Told(err) != c.want || err != nil && len(got) > 0 {
-			t.Errorf("%s: Mirror(%d, %v) = %v, %v, want %v", c.name, c.letters, c.w, got, err, c.want)
+	for _, c := range sample.Checks() {
+		got, err := word.Mirror(c.Letters, c.Word)
+		if plain.Told(err) != c.Want || err != nil && len(got) > 0 {
+			t.Errorf("%s: Mirror(%d, %v) = %v, %v, want %v", c.Name, c.Letters, c.Word, got, err, c.Want)
 		}
 	}
 }
@@ -270,13 +209,13 @@ func TestSub(t *testing.T) {
 		{3, []int{0, 2, 1}, []int{0, 1, 2, 0, 1}, true},
 		{6, []int{5, 0, 5}, []int{0, 5, 4, 3, 0, 2, 5, 1}, true},
 		{6, []int{5, 0, 5, 5}, []int{0, 5, 4, 3, 0, 2, 5, 1}, false},
-		{2, repeated(80, 1), repeated(80, 1), true},
-		{2, repeated(80, 1), repeated(79, 1), false},
-		{2, repeated(79, 1), repeated(80, 1), true},
-		{2, repeated(79, 1), replaced(repeated(80, 1), 40, 0), true},
-		{2, repeated(80, 1), replaced(repeated(80, 1), 79, 0), false},
-		{2, repeated(40, 1), slices.Repeat([]int{0, 1}, 40), true},
-		{2, repeated(41, 1), slices.Repeat([]int{0, 1}, 40), false},
+		{2, sample.Repeated(80, 1), sample.Repeated(80, 1), true},
+		{2, sample.Repeated(80, 1), sample.Repeated(79, 1), false},
+		{2, sample.Repeated(79, 1), sample.Repeated(80, 1), true},
+		{2, sample.Repeated(79, 1), sample.Replaced(sample.Repeated(80, 1), 40, 0), true},
+		{2, sample.Repeated(80, 1), sample.Replaced(sample.Repeated(80, 1), 79, 0), false},
+		{2, sample.Repeated(40, 1), slices.Repeat([]int{0, 1}, 40), true},
+		{2, sample.Repeated(41, 1), slices.Repeat([]int{0, 1}, 40), false},
 		{2, slices.Repeat([]int{1, 0}, 40), slices.Repeat([]int{0, 1}, 40), false},
 		{2, slices.Repeat([]int{1, 0}, 39), slices.Repeat([]int{0, 1}, 40), true},
 	}
@@ -317,11 +256,11 @@ func TestLess(t *testing.T) {
 		{6, []int{0, 0, 0, 0}, []int{5, 5, 5}, false},
 		{6, []int{4, 5, 5}, []int{5, 0, 0}, true},
 		{6, []int{5, 0, 0}, []int{4, 5, 5}, false},
-		{2, repeated(80, 1), repeated(80, 1), false},
-		{2, repeated(79, 1), repeated(80, 0), true},
-		{2, repeated(80, 0), repeated(79, 1), false},
-		{2, replaced(repeated(80, 1), 79, 0), repeated(80, 1), true},
-		{2, repeated(80, 1), replaced(repeated(80, 1), 79, 0), false},
+		{2, sample.Repeated(80, 1), sample.Repeated(80, 1), false},
+		{2, sample.Repeated(79, 1), sample.Repeated(80, 0), true},
+		{2, sample.Repeated(80, 0), sample.Repeated(79, 1), false},
+		{2, sample.Replaced(sample.Repeated(80, 1), 79, 0), sample.Repeated(80, 1), true},
+		{2, sample.Repeated(80, 1), sample.Replaced(sample.Repeated(80, 1), 79, 0), false},
 	}
 	for _, c := range cases {
 		got, err := word.Less(c.letters, c.v, c.w)
@@ -333,16 +272,16 @@ func TestLess(t *testing.T) {
 
 // 4.2: the errors of Sub and Less are those of Check for v, then for w.
 func TestBothChecked(t *testing.T) {
-	for _, a := range checks {
-		for _, b := range checks {
-			want := bothSlowly(a.letters, a.w, b.w)
-			is, err := word.Sub(a.letters, a.w, b.w)
+	for _, a := range sample.Checks() {
+		for _, b := range sample.Checks() {
+			want := bothSlowly(a.Letters, a.Word, b.Word)
+			is, err := word.Sub(a.Letters, a.Word, b.Word)
 			if plain.Told(err) != want || err != nil && is {
-				t.Errorf("%s, %s: Sub(%d, %v, %v) = %v, %v, want %v", a.name, b.name, a.letters, a.w, b.w, is, err, want)
+				t.Errorf("%s, %s: Sub(%d, %v, %v) = %v, %v, want %v", a.Name, b.Name, a.Letters, a.Word, b.Word, is, err, want)
 			}
-			is, err = word.Less(a.letters, a.w, b.w)
+			is, err = word.Less(a.Letters, a.Word, b.Word)
 			if plain.Told(err) != want || err != nil && is {
-				t.Errorf("%s, %s: Less(%d, %v, %v) = %v, %v, want %v", a.name, b.name, a.letters, a.w, b.w, is, err, want)
+				t.Errorf("%s, %s: Less(%d, %v, %v) = %v, %v, want %v", a.Name, b.Name, a.Letters, a.Word, b.Word, is, err, want)
 			}
 		}
 	}
