@@ -70,6 +70,7 @@ func TestLimits(t *testing.T) {
 		{"Modulo", api.Modulo, 1000003},
 		{"MaxLetters", api.MaxLetters, 6},
 		{"MaxWord", api.MaxWord, 80},
+		{"MaxStates", api.MaxStates, 40},
 	}
 	for _, c := range cases {
 		if c.got != c.want {

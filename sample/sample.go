@@ -1,5 +1,5 @@
-// Package sample makes the texts and words that the tests of several packages go
-// through, and has what these tests ask of errors and memory.
+// Package sample makes the texts, words and automata that the tests of several
+// packages go through, and has what these tests ask of errors and memory.
 package sample
 
 import (

@@ -1,0 +1,244 @@
+package sample_test
+
+import (
+	"strconv"
+	"testing"
+
+	"stileward/api"
+	"stileward/sample"
+)
+
+// twoStates is an automaton in which everything differs from everything else.
+func twoStates() api.Dfa {
+	return api.Dfa{Letters: 3, Start: 1, Next: [][]int{{0, 1, 0}, {1, 1, 0}}, Final: []bool{true, false}}
+}
+
+// Ring goes round behind its first states.
+func TestRing(t *testing.T) {
+	cases := []struct {
+		before, around int
+		want           api.Dfa
+	}{
+		{0, 1, api.Dfa{Letters: 1, Next: [][]int{{0}}, Final: []bool{true}}},
+		{0, 3, api.Dfa{Letters: 1, Next: [][]int{{1}, {2}, {0}}, Final: []bool{false, false, true}}},
+		{1, 1, api.Dfa{Letters: 1, Next: [][]int{{1}, {1}}, Final: []bool{false, true}}},
+		{2, 2, api.Dfa{Letters: 1, Next: [][]int{{1}, {2}, {3}, {2}}, Final: []bool{false, false, false, true}}},
+	}
+	for _, c := range cases {
+		if got := sample.Ring(c.before, c.around); !sample.EqualDfas(got, c.want) {
+			t.Errorf("Ring(%d, %d) = %v, want %v", c.before, c.around, got, c.want)
+		}
+	}
+}
+
+// Mixed is the same for the same seed, and another one for others, and has nothing but states.
+func TestMixed(t *testing.T) {
+	found := map[string]bool{}
+	for seed := range uint64(100) {
+		d := sample.Mixed(seed, 5, 3)
+		if !sample.EqualDfas(d, sample.Mixed(seed, 5, 3)) {
+			t.Errorf("Mixed(%d, 5, 3) is not always the same", seed)
+		}
+		if !isWhole(d, 5, 3) {
+			t.Errorf("Mixed(%d, 5, 3) = %v", seed, d)
+		}
+		found[text(d)] = true
+	}
+	if len(found) != 100 {
+		t.Errorf("there are %d automata of 100 seeds", len(found))
+	}
+	if d := sample.Mixed(3, 1, 1); !isWhole(d, 1, 1) {
+		t.Errorf("Mixed(3, 1, 1) = %v", d)
+	}
+}
+
+// isWhole tells whether an automaton has as many states and letters, and is one.
+func isWhole(d api.Dfa, states, letters int) bool {
+	if d.Letters != letters || d.Start < 0 || d.Start >= states || len(d.Next) != states || len(d.Final) != states {
+		return false
+	}
+	for _, row := range d.Next {
+		for _, s := range row {
+			if s < 0 || s >= states {
+				return false
+			}
+		}
+		if len(row) != letters {
+			return false
+		}
+	}
+	return true
+}
+
+// text writes an automaton of less than ten states.
+func text(d api.Dfa) string {
+	s := strconv.Itoa(d.Start)
+	for _, row := range d.Next {
+		s += "|"
+		for _, to := range row {
+			s += strconv.Itoa(to)
+		}
+	}
+	for _, is := range d.Final {
+		s += strconv.FormatBool(is)
+	}
+	return s
+}
+
+// AllDfas has each automaton once.
+func TestAllDfas(t *testing.T) {
+	cases := []struct{ states, letters, want int }{
+		{1, 1, 2},
+		{1, 6, 2},
+		{2, 1, 2 * 4 * 4},
+		{2, 2, 2 * 16 * 4},
+		{3, 1, 3 * 27 * 8},
+	}
+	for _, c := range cases {
+		found := map[string]bool{}
+		for _, d := range sample.AllDfas(c.states, c.letters) {
+			if !isWhole(d, c.states, c.letters) {
+				t.Errorf("AllDfas(%d, %d) has %v", c.states, c.letters, d)
+			}
+			found[text(d)] = true
+		}
+		if all := len(sample.AllDfas(c.states, c.letters)); all != c.want || len(found) != c.want {
+			t.Errorf("AllDfas(%d, %d) has %d, of them %d different ones, want %d", c.states, c.letters, all, len(found), c.want)
+		}
+	}
+}
+
+// CloneDfa has the same automaton in memory of its own.
+func TestCloneDfa(t *testing.T) {
+	d := twoStates()
+	clone := sample.CloneDfa(d)
+	if !sample.EqualDfas(d, clone) {
+		t.Errorf("CloneDfa(%v) = %v", d, clone)
+	}
+	clone.Next[0][0], clone.Next[1], clone.Final[0] = 7, nil, false
+	if !sample.EqualDfas(d, twoStates()) {
+		t.Errorf("the automaton became %v", d)
+	}
+	if clone := sample.CloneDfa(api.Dfa{}); !sample.EqualDfas(clone, api.Dfa{}) {
+		t.Errorf("CloneDfa of nothing = %v", clone)
+	}
+}
+
+// EqualDfas sees each difference, and none between nil and empty lists.
+func TestEqualDfas(t *testing.T) {
+	if !sample.EqualDfas(twoStates(), twoStates()) {
+		t.Errorf("an automaton does not equal itself")
+	}
+	if !sample.EqualDfas(api.Dfa{}, api.Dfa{Next: [][]int{}, Final: []bool{}}) {
+		t.Errorf("nil lists do not equal empty ones")
+	}
+	changes := []func(d *api.Dfa){
+		func(d *api.Dfa) { d.Letters = 2 },
+		func(d *api.Dfa) { d.Start = 0 },
+		func(d *api.Dfa) { d.Next[1][2] = 1 },
+		func(d *api.Dfa) { d.Next[1] = d.Next[1][:2] },
+		func(d *api.Dfa) { d.Next = d.Next[:1] },
+		func(d *api.Dfa) { d.Final[0] = false },
+		func(d *api.Dfa) { d.Final = d.Final[:1] },
+	}
+	for i, change := range changes {
+		d := twoStates()
+		change(&d)
+		if sample.EqualDfas(d, twoStates()) || sample.EqualDfas(twoStates(), d) {
+			t.Errorf("change %d is not seen", i)
+		}
+	}
+}
+
+// RoomyDfa has the automaton with memory behind it, and tells of each change.
+func TestRoomyDfa(t *testing.T) {
+	changes := []func(d api.Dfa){
+		func(d api.Dfa) { d.Next[0][0]++ },
+		func(d api.Dfa) { d.Next[1][2]++ },
+		func(d api.Dfa) { d.Next[1][:4][3]++ },
+		func(d api.Dfa) { d.Next[0] = append([]int{}, d.Next[0]...) },
+		func(d api.Dfa) { d.Next[:3][2] = nil },
+		func(d api.Dfa) { d.Next[:3][2][0]++ },
+		func(d api.Dfa) { d.Final[1] = true },
+		func(d api.Dfa) { d.Final[:3][2] = false },
+	}
+	for i, change := range changes {
+		d, intact := sample.RoomyDfa(twoStates())
+		if !sample.EqualDfas(d, twoStates()) || !intact() {
+			t.Fatalf("RoomyDfa(%v) = %v, intact: %v", twoStates(), d, intact())
+		}
+		change(d)
+		if intact() {
+			t.Errorf("change %d is not seen", i)
+		}
+	}
+	for _, c := range sample.DfaChecks() {
+		if d, intact := sample.RoomyDfa(c.Dfa); !sample.EqualDfas(d, c.Dfa) || !intact() {
+			t.Errorf("%s: RoomyDfa = %v, intact: %v", c.Name, d, intact())
+		}
+	}
+}
+
+// SpoilDfa tells of memory that is shared within an automaton and between two.
+func TestSpoilDfa(t *testing.T) {
+	d, e := twoStates(), twoStates()
+	first, second := sample.SpoilDfa(d, -100), sample.SpoilDfa(e, -201)
+	if !first() || !second() {
+		t.Errorf("memory of two automata is said to be shared")
+	}
+	sharings := []struct {
+		share  func(d, e *api.Dfa)
+		shared bool
+	}{
+		{func(d, e *api.Dfa) { e.Next = d.Next }, true},
+		{func(d, e *api.Dfa) { e.Next[0] = d.Next[1] }, true},
+		{func(d, e *api.Dfa) { e.Next[1] = d.Next[1][:0] }, true},
+		{func(d, e *api.Dfa) { e.Next[1] = append([]int{}, d.Next[1]...) }, false},
+		{func(d, e *api.Dfa) { e.Next = append(d.Next[:1], e.Next[1]) }, true},
+		{func(d, e *api.Dfa) { e.Final = d.Final }, true},
+		{func(d, e *api.Dfa) { e.Final = d.Final[1:] }, true},
+		{func(d, e *api.Dfa) { e.Final = d.Final[:0] }, true},
+	}
+	for i, c := range sharings {
+		d, e := twoStates(), twoStates()
+		c.share(&d, &e)
+		intact := sample.SpoilDfa(d, -100)
+		sample.SpoilDfa(e, -201)
+		if intact() == c.shared {
+			t.Errorf("sharing %d: two automata share memory: %v", i, !intact())
+		}
+	}
+	d = twoStates()
+	d.Next[1] = d.Next[0]
+	if sample.SpoilDfa(d, -100)() {
+		t.Errorf("a row that is another one is not seen")
+	}
+	d = twoStates()
+	memory := []int{0, 0, 0, 0, 0, 0}
+	d.Next[0], d.Next[1] = memory[:3], memory[3:]
+	if sample.SpoilDfa(d, -100)() {
+		t.Errorf("a row that is behind another one is not seen")
+	}
+	if !sample.SpoilDfa(api.Dfa{}, -100)() {
+		t.Errorf("nothing is said to share memory")
+	}
+}
+
+// DfaChecks has automata with each error of dfa.Check and with none, each under a name of its own.
+func TestDfaChecks(t *testing.T) {
+	names := map[string]bool{}
+	found := map[api.Errno]int{}
+	for _, c := range sample.DfaChecks() {
+		if names[c.Name] {
+			t.Errorf("two automata have the name %q", c.Name)
+		}
+		names[c.Name] = true
+		found[c.Want]++
+		if c.Want == api.OK && !isWhole(c.Dfa, len(c.Dfa.Next), c.Dfa.Letters) {
+			t.Errorf("%s: the automaton is %v", c.Name, c.Dfa)
+		}
+	}
+	if len(found) != 4 || found[api.OK] == 0 || found[api.ErrRange] == 0 || found[api.ErrFull] == 0 || found[api.ErrShape] == 0 {
+		t.Errorf("the automata have these errors: %v", found)
+	}
+}
