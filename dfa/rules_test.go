@@ -20,26 +20,13 @@ func FuzzDfa(f *testing.F) {
 	f.Add(-1, -1, "\xff", "\x00", -1, "\xff", "\x00", "\x00", math.MinInt)
 	f.Add(7, math.MaxInt, "\x00\x00\x00\x00\x00\x00\x00", "\x01", math.MaxInt, "\x06", "\x00", "\x00", 1)
 	f.Fuzz(func(t *testing.T, letters, start int, rows, finals string, from int, text, otherRows, otherFinals string, otherStart int) {
-		a, b := automaton(letters, start, rows, finals), automaton(letters, otherStart, otherRows, otherFinals)
+		a, b := sample.Dfa(letters, start, rows, finals), sample.Dfa(letters, otherStart, otherRows, otherFinals)
 		w := sample.Word(text)
 		checkAll(t, a, b, from, w)
 		checkAll(t, b, a, from, w)
 		b.Letters++
 		checkAll(t, a, b, from, w)
 	})
-}
-
-// automaton returns an automaton whose rows follow each other in a text; the last one may be too short.
-func automaton(letters, start int, rows, finals string) api.Dfa {
-	d := api.Dfa{Letters: letters, Start: start}
-	length := max(1, min(letters, 7))
-	for row := range slices.Chunk(sample.Word(rows), length) {
-		d.Next = append(d.Next, row)
-	}
-	for i := range len(finals) {
-		d.Final = append(d.Final, finals[i]&1 == 1)
-	}
-	return d
 }
 
 // checkAll demands of all functions what the words say.
@@ -188,31 +175,21 @@ func TestErrorsAreErrnos(t *testing.T) {
 
 // P5: long arguments are no obstacle.
 func TestLong(t *testing.T) {
-	const long = 1 << 24
-	cases := []struct {
-		d    api.Dfa
-		want api.Errno
-	}{
-		{api.Dfa{Letters: 1, Next: make([][]int, long)}, api.ErrFull},
-		{api.Dfa{Letters: 1, Next: [][]int{{0}}, Final: make([]bool, long)}, api.ErrShape},
-		{api.Dfa{Letters: 1, Next: [][]int{make([]int, long)}, Final: []bool{true}}, api.ErrShape},
-		{api.Dfa{Letters: long, Next: [][]int{make([]int, long)}, Final: []bool{true}}, api.ErrRange},
-	}
-	for i, c := range cases {
-		_, run := dfa.Run(c.d, 0, nil)
-		_, accepts := dfa.Accepts(c.d, nil)
-		errs := []error{dfa.Check(c.d), run, accepts}
+	for _, c := range sample.LongDfas() {
+		_, run := dfa.Run(c.Dfa, 0, nil)
+		_, accepts := dfa.Accepts(c.Dfa, nil)
+		errs := []error{dfa.Check(c.Dfa), run, accepts}
 		for _, m := range makers {
-			_, err := m.make(c.d, c.d)
+			_, err := m.make(c.Dfa, c.Dfa)
 			errs = append(errs, err)
 		}
-		for j, err := range errs {
-			if !sample.OnlyErrno(err, c.want) {
-				t.Errorf("case %d: error %d is %v, want %v", i, j, err, c.want)
+		for i, err := range errs {
+			if !sample.OnlyErrno(err, c.Want) {
+				t.Errorf("%s: error %d is %v, want %v", c.Name, i, err, c.Want)
 			}
 		}
 	}
-	w := make([]int, long)
+	w := make([]int, 1<<24)
 	_, run := dfa.Run(even(), 0, w)
 	_, accepts := dfa.Accepts(even(), w)
 	if !sample.OnlyErrno(run, api.ErrFull) || !sample.OnlyErrno(accepts, api.ErrFull) {

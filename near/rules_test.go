@@ -67,12 +67,12 @@ func TestResultsAreNew(t *testing.T) {
 			second, secondIntact := sample.Roomy(w)
 			common, err := near.Common(3, first, second)
 			want := slices.Clone(common)
-			fill(common, -1)
+			sample.Fill(common, -1)
 			again, wrong := near.Common(3, first, second)
 			if !slices.Equal(again, want) || err != nil || wrong != nil {
 				t.Errorf("Common of %v and %v is first %v, %v and then %v, %v", v, w, want, err, again, wrong)
 			}
-			fill(again, -2)
+			sample.Fill(again, -2)
 			if slices.Contains(common[:cap(common)], -2) || !firstIntact() || !secondIntact() {
 				t.Errorf("Common of %v and %v shares memory", v, w)
 			}
@@ -80,20 +80,12 @@ func TestResultsAreNew(t *testing.T) {
 	}
 }
 
-// fill writes a number everywhere in a result and behind its end.
-func fill(result []int, number int) {
-	result = result[:cap(result)]
-	for i := range result {
-		result[i] = number
-	}
-}
-
 // P2: what was returned does not change when the arguments do later.
 func TestNothingIsKept(t *testing.T) {
 	v, w := []int{0, 1, 2}, []int{0, 2, 1, 2}
 	common, err := near.Common(3, v, w)
-	fill(v, 1)
-	fill(w, 1)
+	sample.Fill(v, 1)
+	sample.Fill(w, 1)
 	if !slices.Equal(common, []int{0, 1, 2}) || err != nil {
 		t.Errorf("Common became %v, %v", common, err)
 	}

@@ -14,6 +14,20 @@ type DfaCheck struct {
 	Want api.Errno
 }
 
+// Dfa returns an automaton whose rows follow each other in a text, as those of
+// Word; the last one may be too short. An odd byte stands for a final state.
+func Dfa(letters, start int, rows, finals string) api.Dfa {
+	d := api.Dfa{Letters: letters, Start: start}
+	length := max(1, min(letters, 7))
+	for row := range slices.Chunk(Word(rows), length) {
+		d.Next = append(d.Next, row)
+	}
+	for i := range len(finals) {
+		d.Final = append(d.Final, finals[i]&1 == 1)
+	}
+	return d
+}
+
 // Ring returns the automaton of one letter that goes through some states
 // before it comes to a ring of others. It accepts what leads to the last state.
 func Ring(before, around int) api.Dfa {
@@ -285,5 +299,16 @@ func badStates() []DfaCheck {
 		{"to the greatest number", leads(wide(3, 2), 1, 1, math.MaxInt), api.ErrRange},
 		{"to a great number", leads(wide(3, 2), 2, 1, 1<<32), api.ErrRange},
 		{"to none from where no word leads", start(leads(Ring(5, 5), 0, 0, 10), 7), api.ErrRange},
+	}
+}
+
+// LongDfas returns automata that have errors of dfa.Check, and lists that are long in one place or another.
+func LongDfas() []DfaCheck {
+	const long = 1 << 24
+	return []DfaCheck{
+		{"long list of states", api.Dfa{Letters: 1, Next: make([][]int, long)}, api.ErrFull},
+		{"long list of finals", api.Dfa{Letters: 1, Next: [][]int{{0}}, Final: make([]bool, long)}, api.ErrShape},
+		{"long row", api.Dfa{Letters: 1, Next: [][]int{make([]int, long)}, Final: []bool{true}}, api.ErrShape},
+		{"long row of as many letters", api.Dfa{Letters: long, Next: [][]int{make([]int, long)}, Final: []bool{true}}, api.ErrRange},
 	}
 }

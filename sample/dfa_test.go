@@ -13,6 +13,29 @@ func twoStates() api.Dfa {
 	return api.Dfa{Letters: 3, Start: 1, Next: [][]int{{0, 1, 0}, {1, 1, 0}}, Final: []bool{true, false}}
 }
 
+// Dfa has the rows of a text, and a final or another state for each byte of the other one.
+func TestDfa(t *testing.T) {
+	cases := []struct {
+		letters, start int
+		rows, finals   string
+		want           api.Dfa
+	}{
+		{3, 1, "\x00\x01\x00\x01\x01\x00", "\x01\x00", twoStates()},
+		{2, -1, "\x02\xff\x00", "\x03\x02\xff", api.Dfa{
+			Letters: 2, Start: -1, Next: [][]int{{2, -1}, {0}}, Final: []bool{true, false, true},
+		}},
+		{1, 0, "\x01\x00", "", api.Dfa{Letters: 1, Next: [][]int{{1}, {0}}}},
+		{7, 0, "\x00\x00\x00\x00\x00\x00\x00\x01", "", api.Dfa{Letters: 7, Next: [][]int{{0, 0, 0, 0, 0, 0, 0}, {1}}}},
+		{0, 0, "\x00\x01", "", api.Dfa{Next: [][]int{{0}, {1}}}},
+		{-1, 0, "", "\x00", api.Dfa{Letters: -1, Final: []bool{false}}},
+	}
+	for _, c := range cases {
+		if got := sample.Dfa(c.letters, c.start, c.rows, c.finals); !sample.EqualDfas(got, c.want) {
+			t.Errorf("Dfa(%d, %d, %q, %q) = %v, want %v", c.letters, c.start, c.rows, c.finals, got, c.want)
+		}
+	}
+}
+
 // Ring goes round behind its first states.
 func TestRing(t *testing.T) {
 	cases := []struct {
@@ -240,5 +263,18 @@ func TestDfaChecks(t *testing.T) {
 	}
 	if len(found) != 4 || found[api.OK] == 0 || found[api.ErrRange] == 0 || found[api.ErrFull] == 0 || found[api.ErrShape] == 0 {
 		t.Errorf("the automata have these errors: %v", found)
+	}
+}
+
+// LongDfas has a long list in each automaton.
+func TestLongDfas(t *testing.T) {
+	for _, c := range sample.LongDfas() {
+		longest := max(len(c.Dfa.Next), len(c.Dfa.Final))
+		if len(c.Dfa.Next) == 1 {
+			longest = max(longest, len(c.Dfa.Next[0]))
+		}
+		if longest < 1<<24 || c.Want == api.OK {
+			t.Errorf("%s: the longest list has %d elements, and the error is %v", c.Name, longest, c.Want)
+		}
 	}
 }

@@ -72,6 +72,14 @@ func Roomy(w []int) ([]int, func() bool) {
 	return memory[:len(w)], func() bool { return slices.Equal(memory, before) }
 }
 
+// Fill writes a number everywhere in a list and in the memory behind its end.
+func Fill(list []int, number int) {
+	list = list[:cap(list)]
+	for i := range list {
+		list[i] = number
+	}
+}
+
 // OnlyErrno tells whether an error is, or wraps, one Errno and no other one.
 func OnlyErrno(err error, want api.Errno) bool {
 	for e := api.OK; e <= api.ErrLate; e++ {

@@ -127,6 +127,20 @@ func TestRoomy(t *testing.T) {
 	}
 }
 
+// Fill writes over a list and what is behind it, and over nothing before it.
+func TestFill(t *testing.T) {
+	memory := []int{0, 1, 2, 3, 4}
+	sample.Fill(memory[1:2:4], 7)
+	if !slices.Equal(memory, []int{0, 7, 7, 7, 4}) {
+		t.Errorf("the memory became %v", memory)
+	}
+	sample.Fill(memory[:0], 8)
+	if !slices.Equal(memory, []int{8, 8, 8, 8, 8}) {
+		t.Errorf("the memory became %v", memory)
+	}
+	sample.Fill(nil, 9)
+}
+
 type wrapped struct{ inner error }
 
 func (w wrapped) Error() string { return "wrapped" }

@@ -103,16 +103,12 @@ func TestResultsAreNew(t *testing.T) {
 			argument, intact := sample.Roomy(w)
 			first, err := c.call(argument)
 			want := slices.Clone(first)
-			for i := range cap(first) {
-				first[:cap(first)][i] = -1
-			}
+			sample.Fill(first, -1)
 			second, wrong := c.call(argument)
 			if !slices.Equal(second, want) || err != nil || wrong != nil {
 				t.Errorf("%s of %v is first %v, %v and then %v, %v", c.name, w, want, err, second, wrong)
 			}
-			for i := range cap(second) {
-				second[:cap(second)][i] = -2
-			}
+			sample.Fill(second, -2)
 			if slices.Contains(first[:cap(first)], -2) || !intact() {
 				t.Errorf("%s of %v shares memory", c.name, w)
 			}
@@ -125,7 +121,7 @@ func TestNothingIsKept(t *testing.T) {
 	w := []int{0, 1, 2}
 	left, err := word.Only(3, w, 5)
 	mirrored, wrong := word.Mirror(3, w)
-	w[0], w[1], w[2] = 1, 1, 1
+	sample.Fill(w, 1)
 	if !slices.Equal(left, []int{0, 2}) || !slices.Equal(mirrored, []int{2, 1, 0}) || err != nil || wrong != nil {
 		t.Errorf("Only became %v, %v, Mirror %v, %v", left, err, mirrored, wrong)
 	}
