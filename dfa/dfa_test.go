@@ -557,6 +557,9 @@ func TestProductsErrors(t *testing.T) {
 	for _, a := range sample.DfaChecks() {
 		for _, b := range sample.DfaChecks() {
 			want := wrongOfBoth(a.Dfa, b.Dfa)
+			if err := dfa.CheckBoth(a.Dfa, b.Dfa); plain.Told(err) != want {
+				t.Errorf("%s, %s: CheckBoth = %v, want %v", a.Name, b.Name, err, want)
+			}
 			if want == api.OK && pairsOf(a.Dfa, b.Dfa) > 40 {
 				want = api.ErrFull
 			}
@@ -572,32 +575,13 @@ func TestProductsErrors(t *testing.T) {
 
 // 6.3: of several errors, the first one is returned.
 func TestProductsFirstError(t *testing.T) {
-	full, none, small := sample.Ring(0, 41), api.Dfa{Letters: 1}, sample.Mixed(1, 40, 6)
-	outside := sample.Ring(0, 3)
-	outside.Start = 3
-	cases := []struct {
-		a, b api.Dfa
-		want api.Errno
-	}{
-		{full, none, api.ErrFull},
-		{none, full, api.ErrShape},
-		{outside, full, api.ErrRange},
-		{full, outside, api.ErrFull},
-		{small, none, api.ErrShape},
-		{small, full, api.ErrFull},
-		{small, outside, api.ErrRange},
-		{full, small, api.ErrFull},
-		{outside, small, api.ErrRange},
-		{small, sample.Ring(0, 39), api.ErrShape},
-		{sample.Ring(0, 39), small, api.ErrShape},
-		{sample.Ring(0, 39), sample.Ring(0, 40), api.ErrFull},
-		{sample.Ring(0, 1), even(), api.ErrShape},
-		{even(), sample.Ring(0, 1), api.ErrShape},
-	}
-	for i, c := range cases {
+	for _, c := range sample.DfaPairs() {
+		if err := dfa.CheckBoth(c.A, c.B); plain.Told(err) != c.Want {
+			t.Errorf("%s: CheckBoth = %v, want %v", c.Name, err, c.Want)
+		}
 		for _, p := range products {
-			if _, err := p.make(c.a, c.b); plain.Told(err) != c.want {
-				t.Errorf("case %d: %s = %v, want %v", i, p.name, err, c.want)
+			if _, err := p.make(c.A, c.B); plain.Told(err) != c.Want {
+				t.Errorf("%s: %s = %v, want %v", c.Name, p.name, err, c.Want)
 			}
 		}
 	}

@@ -57,6 +57,9 @@ func checkAll(t *testing.T, a, b api.Dfa, from int, w []int) {
 	if got, err := dfa.Accepts(a, w); got != is || plain.Told(err) != wrong {
 		t.Errorf("Accepts(%v, %v) = %v, %v, want %v, %v", a, w, got, err, is, wrong)
 	}
+	if err := dfa.CheckBoth(a, b); plain.Told(err) != wrongOfBoth(a, b) {
+		t.Errorf("CheckBoth(%v, %v) = %v, want %v", a, b, err, wrongOfBoth(a, b))
+	}
 	checkProducts(t, a, b)
 }
 
@@ -84,23 +87,17 @@ var makers = append(slices.Clone(products), product{
 	make: func(a, b api.Dfa) (api.Dfa, error) { return dfa.Not(a) },
 })
 
-// P2: results share no memory with arguments or with each other, nor do their rows, not even behind their ends.
+// P2: results share no memory with arguments or with each other, nor do their rows, not even behind
+// their ends, and so they do not change when the arguments do later.
 func TestResultsAreNew(t *testing.T) {
 	twice := even()
 	twice.Next[1] = twice.Next[0]
 	for _, given := range []api.Dfa{even(), ends(), twice, sample.Mixed(1, 1, 2), sample.Mixed(2, 20, 2)} {
 		for _, m := range makers {
-			a, intactA := sample.RoomyDfa(given)
-			b, intactB := sample.RoomyDfa(even())
-			first, err := m.make(a, b)
-			want := sample.CloneDfa(first)
-			intact := sample.SpoilDfa(first, -100)
-			again, wrong := m.make(a, b)
-			if !sample.EqualDfas(again, want) || err != nil || wrong != nil {
-				t.Errorf("%s of %v is first %v, %v and then %v, %v", m.name, given, want, err, again, wrong)
-			}
-			intactAgain := sample.SpoilDfa(again, -201)
-			if !intact() || !intactAgain() || !intactA() || !intactB() {
+			other, intact := sample.RoomyDfa(even())
+			first := func(d api.Dfa) (api.Dfa, error) { return m.make(d, other) }
+			second := func(d api.Dfa) (api.Dfa, error) { return m.make(other, d) }
+			if !sample.MakesNew(given, first) || !sample.MakesNew(given, second) || !intact() {
 				t.Errorf("%s of %v shares memory", m.name, given)
 			}
 		}
@@ -115,20 +112,6 @@ func TestSharedArguments(t *testing.T) {
 	checkAll(t, d, d, 1, row)
 	if !sample.EqualDfas(d, want) {
 		t.Errorf("the automaton became %v", d)
-	}
-}
-
-// P2: what was returned does not change when the arguments do later.
-func TestNothingIsKept(t *testing.T) {
-	for _, m := range makers {
-		a, b := even(), ends()
-		got, err := m.make(a, b)
-		want := sample.CloneDfa(got)
-		sample.SpoilDfa(a, -100)
-		sample.SpoilDfa(b, -200)
-		if !sample.EqualDfas(got, want) || err != nil {
-			t.Errorf("%s became %v, %v, want %v", m.name, got, err, want)
-		}
 	}
 }
 
@@ -149,6 +132,7 @@ func TestErrorsAreErrnos(t *testing.T) {
 			_, err := p.make(even(), c.Dfa)
 			errs = append(errs, err)
 		}
+		errs = append(errs, dfa.CheckBoth(c.Dfa, even()), dfa.CheckBoth(even(), c.Dfa))
 		for i, err := range errs {
 			if !sample.OnlyErrno(err, c.Want) {
 				t.Errorf("%s: error %d is %v, not %v alone", c.Name, i, err, c.Want)

@@ -55,18 +55,6 @@ func rivals() api.Dfa {
 	}
 }
 
-// none returns an automaton without its final states.
-func none(d api.Dfa) api.Dfa {
-	d.Final = make([]bool, len(d.Final))
-	return d
-}
-
-// started returns an automaton that starts elsewhere.
-func started(d api.Dfa, start int) api.Dfa {
-	d.Start = start
-	return d
-}
-
 // examples are automata with all that is to be said of them.
 func examples() []given { return slices.Concat(ofOneLetter(), ofMoreLetters()) }
 
@@ -79,9 +67,9 @@ func ofOneLetter() []given {
 			trimmed: sample.Ring(0, 1), counts: []int{1, 1, 1, 1},
 		},
 		{
-			name: "no word", d: none(sample.Ring(0, 1)),
+			name: "no word", d: sample.NoneFinal(sample.Ring(0, 1)),
 			reached: []int{0}, alive: nil,
-			trimmed: none(sample.Ring(0, 1)), counts: []int{0, 0, 0},
+			trimmed: sample.NoneFinal(sample.Ring(0, 1)), counts: []int{0, 0, 0},
 		},
 		{
 			name: "a ring", d: sample.Ring(2, 3),
@@ -89,7 +77,7 @@ func ofOneLetter() []given {
 			trimmed: sample.Ring(2, 3), counts: []int{0, 0, 0, 0, 1, 0, 0, 1, 0},
 		},
 		{
-			name: "a ring from within", d: started(sample.Ring(2, 3), 3),
+			name: "a ring from within", d: sample.Started(sample.Ring(2, 3), 3),
 			reached: []int{2, 3, 4}, alive: []int{0, 1, 2, 3, 4}, accepts: true, first: []int{0},
 			trimmed: api.Dfa{Letters: 1, Next: [][]int{{1}, {2}, {0}}, Final: []bool{false, true, false}},
 			counts:  []int{0, 1, 0, 0, 1, 0, 0, 1},
@@ -97,7 +85,7 @@ func ofOneLetter() []given {
 		{
 			name: "final states that no word leads to", d: sample.Dfa(1, 0, "\x00\x01\x00", "\x00\x01\x01"),
 			reached: []int{0}, alive: []int{1, 2},
-			trimmed: none(sample.Ring(0, 1)), counts: []int{0, 0, 0},
+			trimmed: sample.NoneFinal(sample.Ring(0, 1)), counts: []int{0, 0, 0},
 		},
 	}
 }
@@ -116,7 +104,7 @@ func ofMoreLetters() []given {
 			counts: []int{0, 0, 1, 1, 1, 2, 3},
 		},
 		{
-			name: "an island", d: started(islands(), 6),
+			name: "an island", d: sample.Started(islands(), 6),
 			reached: []int{3, 6}, alive: []int{0, 1, 2, 4, 5},
 			trimmed: api.Dfa{Letters: 2, Next: [][]int{{0, 1}, {1, 1}}, Final: []bool{false, false}},
 			counts:  []int{0, 0, 0},
@@ -229,19 +217,12 @@ func TestAll(t *testing.T) {
 	}
 }
 
-// oneFinal returns an automaton without any order in it that has one final state.
-func oneFinal(seed uint64, states, letters int) api.Dfa {
-	d := none(sample.Mixed(seed, states, letters))
-	d.Final[seed%uint64(states)] = true
-	return d
-}
-
 // 7.1, 7.2: for automata of all sizes, the functions say what the words of the chapter do.
 func TestMixed(t *testing.T) {
 	noFirst, unreached, dead := 0, 0, 0
 	for seed := range uint64(3000) {
 		states, letters, n := 1+int(seed)%40, 1+int(seed)/40%3, int(seed)/7%21
-		for _, d := range []api.Dfa{sample.Mixed(seed, states, letters), oneFinal(seed, states, letters), sample.Mixed(seed, states, letters+3)} {
+		for _, d := range []api.Dfa{sample.Mixed(seed, states, letters), sample.OneFinal(seed, states, letters), sample.Mixed(seed, states, letters+3)} {
 			want := slowly(d, n)
 			check(t, d, n, want)
 			if want.noFirst == api.ErrNone {
@@ -308,7 +289,7 @@ func TestLongWay(t *testing.T) {
 func TestFirstPrecedesAll(t *testing.T) {
 	for seed := range uint64(200) {
 		letters := 2 + int(seed)%2
-		d := oneFinal(seed, 3+int(seed)%7, letters)
+		d := sample.OneFinal(seed, 3+int(seed)%7, letters)
 		first, err := reach.First(d)
 		if is, wrong := dfa.Accepts(d, first); err == nil && (!is || wrong != nil) {
 			t.Errorf("%v does not accept First, %v", d, first)
@@ -355,7 +336,7 @@ func TestTrimLong(t *testing.T) {
 	if got, err := reach.Trim(d); !sample.EqualDfas(got, want) || err != nil {
 		t.Errorf("Trim(%v) = %v, %v, want %v", d, got, err, want)
 	}
-	if got, err := reach.Trim(started(d, 0)); len(got.Next) != 1 || !got.Final[0] || err != nil {
+	if got, err := reach.Trim(sample.Started(d, 0)); len(got.Next) != 1 || !got.Final[0] || err != nil {
 		t.Errorf("Trim(%v) from 0 = %v, %v", d, got, err)
 	}
 }
@@ -369,8 +350,8 @@ func TestCountAll(t *testing.T) {
 			if got, err := reach.Count(every, n); got != all || err != nil {
 				t.Errorf("Count(%v, %d) = %d, %v, want %d", every, n, got, err, all)
 			}
-			if got, err := reach.Count(none(every), n); got != 0 || err != nil {
-				t.Errorf("Count(%v, %d) = %d, %v, want 0", none(every), n, got, err)
+			if got, err := reach.Count(sample.NoneFinal(every), n); got != 0 || err != nil {
+				t.Errorf("Count(%v, %d) = %d, %v, want 0", sample.NoneFinal(every), n, got, err)
 			}
 			d := sample.Mixed(uint64(n), 40, letters)
 			not, _ := dfa.Not(d)
@@ -389,7 +370,7 @@ func TestCountAll(t *testing.T) {
 
 // 7.2: n is in [0, 20].
 func TestCountRange(t *testing.T) {
-	for _, d := range []api.Dfa{sample.Ring(0, 1), none(sample.Ring(0, 1)), sample.Ring(20, 20), sample.Mixed(1, 40, 6)} {
+	for _, d := range []api.Dfa{sample.Ring(0, 1), sample.NoneFinal(sample.Ring(0, 1)), sample.Ring(20, 20), sample.Mixed(1, 40, 6)} {
 		for n := -300; n <= 600; n++ {
 			want := api.OK
 			if n < 0 || n > 20 {
@@ -424,7 +405,7 @@ func TestErrors(t *testing.T) {
 func TestFirstError(t *testing.T) {
 	short := sample.Ring(0, 3)
 	short.Final = nil
-	lost := none(started(sample.Ring(0, 3), 3))
+	lost := sample.NoneFinal(sample.Started(sample.Ring(0, 3), 3))
 	cases := []struct {
 		d            api.Dfa
 		n            int
@@ -432,10 +413,10 @@ func TestFirstError(t *testing.T) {
 	}{
 		{short, -1, api.ErrShape, api.ErrShape},
 		{short, 21, api.ErrShape, api.ErrShape},
-		{none(sample.Ring(0, 41)), 21, api.ErrFull, api.ErrFull},
+		{sample.NoneFinal(sample.Ring(0, 41)), 21, api.ErrFull, api.ErrFull},
 		{lost, -1, api.ErrRange, api.ErrRange},
-		{none(sample.Ring(0, 40)), 21, api.ErrNone, api.ErrRange},
-		{none(sample.Ring(0, 40)), 20, api.ErrNone, api.OK},
+		{sample.NoneFinal(sample.Ring(0, 40)), 21, api.ErrNone, api.ErrRange},
+		{sample.NoneFinal(sample.Ring(0, 40)), 20, api.ErrNone, api.OK},
 		{sample.Ring(0, 40), 20, api.OK, api.OK},
 	}
 	for _, c := range cases {

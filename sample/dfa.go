@@ -60,6 +60,25 @@ func Mixed(seed uint64, states, letters int) api.Dfa {
 	return d
 }
 
+// OneFinal returns the automaton of Mixed with one final state.
+func OneFinal(seed uint64, states, letters int) api.Dfa {
+	d := NoneFinal(Mixed(seed, states, letters))
+	d.Final[seed%uint64(states)] = true
+	return d
+}
+
+// NoneFinal returns an automaton without its final states.
+func NoneFinal(d api.Dfa) api.Dfa {
+	d.Final = make([]bool, len(d.Final))
+	return d
+}
+
+// Started returns an automaton that starts elsewhere.
+func Started(d api.Dfa, start int) api.Dfa {
+	d.Start = start
+	return d
+}
+
 // AllDfas returns all automata with as many states and letters.
 func AllDfas(states, letters int) []api.Dfa {
 	var all []api.Dfa
@@ -173,6 +192,21 @@ func SpoilDfa(d api.Dfa, first int) func() bool {
 		}
 		return !slices.Contains(finals, first&1 == 0)
 	}
+}
+
+// MakesNew tells whether a function without an error for an automaton returns the same
+// each time, in memory that is shared neither with the automaton nor with other results.
+func MakesNew(given api.Dfa, maker func(d api.Dfa) (api.Dfa, error)) bool {
+	d, intactD := RoomyDfa(given)
+	first, err := maker(d)
+	want := CloneDfa(first)
+	intact := SpoilDfa(first, -100)
+	again, wrong := maker(d)
+	same := EqualDfas(again, want) && err == nil && wrong == nil
+	intactAgain := SpoilDfa(again, -201)
+	left := intactD()
+	SpoilDfa(d, -302)
+	return same && left && intact() && intactAgain()
 }
 
 // wide returns the automaton of some states and letters in which all letters
@@ -299,6 +333,36 @@ func badStates() []DfaCheck {
 		{"to the greatest number", leads(wide(3, 2), 1, 1, math.MaxInt), api.ErrRange},
 		{"to a great number", leads(wide(3, 2), 2, 1, 1<<32), api.ErrRange},
 		{"to none from where no word leads", start(leads(Ring(5, 5), 0, 0, 10), 7), api.ErrRange},
+	}
+}
+
+// DfaPair is two automata, and what is wrong with them.
+type DfaPair struct {
+	Name string
+	A, B api.Dfa
+	Want api.Errno
+}
+
+// DfaPairs returns pairs of automata of which one or both have an error, or that differ
+// in their Letters. They are for every function whose errors are those of dfa.CheckBoth,
+// or begin with them.
+func DfaPairs() []DfaPair {
+	full, none, great := Ring(0, 41), api.Dfa{Letters: 1}, Mixed(1, 40, 6)
+	outside := Started(Ring(0, 3), 3)
+	return []DfaPair{
+		{"too many states and none", full, none, api.ErrFull},
+		{"no state and too many", none, full, api.ErrShape},
+		{"no start and too many states", outside, full, api.ErrRange},
+		{"too many states and no start", full, outside, api.ErrFull},
+		{"other letters and no state", great, none, api.ErrShape},
+		{"other letters and too many states", great, full, api.ErrFull},
+		{"other letters and no start", great, outside, api.ErrRange},
+		{"too many states and other letters", full, great, api.ErrFull},
+		{"no start and other letters", outside, great, api.ErrRange},
+		{"more letters and less", great, Ring(0, 39), api.ErrShape},
+		{"less letters and more", Ring(0, 39), great, api.ErrShape},
+		{"two letters and one of one state", wide(1, 2), Ring(0, 1), api.ErrShape},
+		{"one letter and two of one state", Ring(0, 1), wide(1, 2), api.ErrShape},
 	}
 }
 

@@ -1,6 +1,7 @@
 package sample_test
 
 import (
+	"slices"
 	"strconv"
 	"testing"
 
@@ -72,6 +73,44 @@ func TestMixed(t *testing.T) {
 	}
 	if d := sample.Mixed(3, 1, 1); !isWhole(d, 1, 1) {
 		t.Errorf("Mixed(3, 1, 1) = %v", d)
+	}
+}
+
+// OneFinal has the automaton of Mixed, and each of its states may be the final one.
+func TestOneFinal(t *testing.T) {
+	last := map[int]bool{}
+	for seed := range uint64(100) {
+		d, mixed := sample.OneFinal(seed, 5, 3), sample.Mixed(seed, 5, 3)
+		finals := 0
+		for s, is := range d.Final {
+			if is {
+				last[s] = true
+				finals++
+			}
+		}
+		mixed.Final = d.Final
+		if !sample.EqualDfas(d, mixed) || finals != 1 {
+			t.Errorf("OneFinal(%d, 5, 3) = %v", seed, d)
+		}
+	}
+	if len(last) != 5 {
+		t.Errorf("these states are final: %v", last)
+	}
+}
+
+// NoneFinal and Started change one thing each, and nothing in the automaton that is given.
+func TestNoneFinalAndStarted(t *testing.T) {
+	d, none, started := twoStates(), twoStates(), twoStates()
+	none.Final[0] = false
+	started.Start = 0
+	if got := sample.NoneFinal(d); !sample.EqualDfas(got, none) {
+		t.Errorf("NoneFinal(%v) = %v", d, got)
+	}
+	if got := sample.Started(d, 0); !sample.EqualDfas(got, started) {
+		t.Errorf("Started(%v, 0) = %v", d, got)
+	}
+	if !sample.EqualDfas(d, twoStates()) {
+		t.Errorf("the automaton became %v", d)
 	}
 }
 
@@ -247,6 +286,59 @@ func TestSpoilDfa(t *testing.T) {
 	}
 }
 
+// MakesNew sees memory that is shared, results that change and errors.
+func TestMakesNew(t *testing.T) {
+	var kept api.Dfa
+	calls := 0
+	makers := []struct {
+		maker func(d api.Dfa) (api.Dfa, error)
+		new   bool
+	}{
+		{func(d api.Dfa) (api.Dfa, error) { return sample.CloneDfa(d), nil }, true},
+		{func(d api.Dfa) (api.Dfa, error) { return twoStates(), nil }, true},
+		{func(d api.Dfa) (api.Dfa, error) { return d, nil }, false},
+		{func(d api.Dfa) (api.Dfa, error) {
+			d.Next[0] = slices.Clone(d.Next[0])
+			return sample.CloneDfa(d), nil
+		}, false},
+		{func(d api.Dfa) (api.Dfa, error) {
+			given := d.Next[1]
+			d = sample.CloneDfa(d)
+			d.Next[1] = given
+			return d, nil
+		}, false},
+		{func(d api.Dfa) (api.Dfa, error) {
+			given := d.Final
+			d = sample.CloneDfa(d)
+			d.Final = given[:len(given):len(given)]
+			return d, nil
+		}, false},
+		{func(d api.Dfa) (api.Dfa, error) {
+			d = sample.CloneDfa(d)
+			d.Next[1] = d.Next[0]
+			return d, nil
+		}, false},
+		{func(d api.Dfa) (api.Dfa, error) {
+			if kept.Letters == 0 {
+				kept = twoStates()
+			}
+			d = sample.CloneDfa(d)
+			d.Next[1] = kept.Next[1]
+			return d, nil
+		}, false},
+		{func(d api.Dfa) (api.Dfa, error) {
+			calls++
+			return sample.Mixed(uint64(calls), 5, 3), nil
+		}, false},
+		{func(d api.Dfa) (api.Dfa, error) { return sample.CloneDfa(d), api.ErrNone }, false},
+	}
+	for i, c := range makers {
+		if sample.MakesNew(twoStates(), c.maker) != c.new {
+			t.Errorf("function %d: MakesNew = %v", i, !c.new)
+		}
+	}
+}
+
 // DfaChecks has automata with each error of dfa.Check and with none, each under a name of its own.
 func TestDfaChecks(t *testing.T) {
 	names := map[string]bool{}
@@ -263,6 +355,22 @@ func TestDfaChecks(t *testing.T) {
 	}
 	if len(found) != 4 || found[api.OK] == 0 || found[api.ErrRange] == 0 || found[api.ErrFull] == 0 || found[api.ErrShape] == 0 {
 		t.Errorf("the automata have these errors: %v", found)
+	}
+}
+
+// DfaPairs has pairs with each error of dfa.Check, each under a name of its own.
+func TestDfaPairs(t *testing.T) {
+	names := map[string]bool{}
+	found := map[api.Errno]int{}
+	for _, c := range sample.DfaPairs() {
+		if names[c.Name] {
+			t.Errorf("two pairs have the name %q", c.Name)
+		}
+		names[c.Name] = true
+		found[c.Want]++
+	}
+	if len(found) != 3 || found[api.ErrRange] == 0 || found[api.ErrFull] == 0 || found[api.ErrShape] == 0 {
+		t.Errorf("the pairs have these errors: %v", found)
 	}
 }
 
