@@ -3,6 +3,7 @@ package dfa_test
 import (
 	"math"
 	"slices"
+	"strconv"
 	"testing"
 
 	"stileward/api"
@@ -547,6 +548,49 @@ func TestProductsFullAnywhere(t *testing.T) {
 			checkProducts(t, b, a)
 			if pairs := pairsOf(a, b); pairs != 41 {
 				t.Errorf("there are %d pairs", pairs)
+			}
+		}
+	}
+}
+
+// 6.3: Explore numbers states of whatever kind, here texts, as the products do.
+func TestExplore(t *testing.T) {
+	next := func(from string, letter int) string {
+		number, _ := strconv.Atoi(from)
+		return strconv.Itoa((7 - number + 3*letter) % 5)
+	}
+	isEven := func(at string) bool { return at == "0" || at == "2" || at == "4" }
+	got, err := dfa.Explore(2, "4", next, isEven)
+	// 4, 3, 1, 2, 0
+	want := api.Dfa{
+		Letters: 2,
+		Next:    [][]int{{1, 2}, {0, 3}, {2, 0}, {4, 1}, {3, 4}},
+		Final:   []bool{true, false, false, true, true},
+	}
+	if !sample.EqualDfas(got, want) || err != nil {
+		t.Errorf("Explore = %v, %v, want %v", got, err, want)
+	}
+}
+
+// 6.3: Explore has at most 40 states, and from 1 to 6 letters.
+func TestExploreErrors(t *testing.T) {
+	for _, states := range []int{1, 2, 39, 40, 41, 42, 1 << 40} {
+		for _, letters := range []int{math.MinInt, -1, 0, 1, 2, 6, 7, 1 << 32, math.MaxInt} {
+			next := func(from, letter int) int {
+				if letter < letters-1 {
+					return from
+				}
+				return (from + 1) % states
+			}
+			want, found := api.OK, states
+			if letters < 1 || letters > 6 {
+				want, found = api.ErrRange, 0
+			} else if states > 40 {
+				want, found = api.ErrFull, 0
+			}
+			got, err := dfa.Explore(letters, 0, next, func(at int) bool { return true })
+			if plain.Told(err) != want || len(got.Next) != found || err != nil && !sample.EqualDfas(got, api.Dfa{}) {
+				t.Errorf("Explore of %d states and %d letters = %v, %v, want %v", states, letters, got, err, want)
 			}
 		}
 	}

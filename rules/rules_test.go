@@ -71,6 +71,7 @@ func TestLimits(t *testing.T) {
 		{"MaxLetters", api.MaxLetters, 6},
 		{"MaxWord", api.MaxWord, 80},
 		{"MaxStates", api.MaxStates, 40},
+		{"MaxMoves", api.MaxMoves, 240},
 	}
 	for _, c := range cases {
 		if c.got != c.want {

@@ -40,14 +40,9 @@ func Ring(before, around int) api.Dfa {
 	return d
 }
 
-// Mixed returns an automaton without any order in it, another one for each
-// seed, but always the same one for the same seed.
+// Mixed returns an automaton out of the numbers of Below.
 func Mixed(seed uint64, states, letters int) api.Dfa {
-	below := func(n int) int {
-		// The constants are those of Knuth's MMIX; the low bits of such numbers have short periods.
-		seed = seed*6364136223846793005 + 1442695040888963407
-		return int(seed>>33) % n
-	}
+	below := Below(seed)
 	d := api.Dfa{Letters: letters, Start: below(states)}
 	for range states {
 		row := make([]int, letters)

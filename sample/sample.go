@@ -61,6 +61,16 @@ func Replaced(w []int, at, number int) []int {
 	return w
 }
 
+// Below returns a function that returns a number from 0 to n-1. There is no order in these
+// numbers; they are others for each seed, but always the same ones for the same seed.
+func Below(seed uint64) func(n int) int {
+	return func(n int) int {
+		// The constants are those of Knuth's MMIX; the low bits of such numbers have short periods.
+		seed = seed*6364136223846793005 + 1442695040888963407
+		return int(seed>>33) % n
+	}
+}
+
 // behind is what no function may find behind the end of an argument.
 const behind = -7
 

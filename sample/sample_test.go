@@ -2,7 +2,9 @@ package sample_test
 
 import (
 	"errors"
+	"maps"
 	"slices"
+	"strconv"
 	"testing"
 
 	"stileward/api"
@@ -90,6 +92,36 @@ func TestReplaced(t *testing.T) {
 	}
 	if !slices.Equal(w, []int{0, 1, 2}) {
 		t.Errorf("the word became %v", w)
+	}
+}
+
+// Below has the same numbers for the same seed, others for another one, and all that are less than a bound.
+func TestBelow(t *testing.T) {
+	numbers := func(seed uint64, n int) string {
+		below, text := sample.Below(seed), ""
+		for range 100 {
+			text += " " + strconv.Itoa(below(n))
+		}
+		return text
+	}
+	found := map[string]bool{}
+	for seed := range uint64(100) {
+		if numbers(seed, 7) != numbers(seed, 7) {
+			t.Errorf("the numbers of %d are not always the same", seed)
+		}
+		found[numbers(seed, 7)] = true
+	}
+	if len(found) != 100 {
+		t.Errorf("there are %d lists of numbers of 100 seeds", len(found))
+	}
+	for n := 1; n <= 10; n++ {
+		below, known := sample.Below(3), map[int]bool{}
+		for range 100 {
+			known[below(n)] = true
+		}
+		if all := slices.Sorted(maps.Keys(known)); len(all) != n || all[0] != 0 || all[n-1] != n-1 {
+			t.Errorf("below %d are %v", n, all)
+		}
 	}
 }
 
