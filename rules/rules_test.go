@@ -72,6 +72,8 @@ func TestLimits(t *testing.T) {
 		{"MaxWord", api.MaxWord, 80},
 		{"MaxStates", api.MaxStates, 40},
 		{"MaxMoves", api.MaxMoves, 240},
+		{"MaxNodes", api.MaxNodes, 40},
+		{"MaxText", api.MaxText, 300},
 	}
 	for _, c := range cases {
 		if c.got != c.want {

@@ -1,4 +1,4 @@
-// Package sample makes the texts, words and automata that the tests of several
+// Package sample makes the texts, words, automata and formulas that the tests of several
 // packages go through, and has what these tests ask of errors and memory.
 package sample
 
