@@ -455,17 +455,17 @@ func TestReadMixed(t *testing.T) {
 	for seed := range uint64(20000) {
 		below := sample.Below(seed)
 		letters, nodes := 1+below(6), 1+below(25)
-		x := mixedTree(below, letters, nodes)
-		s := spaced(below, x.loose(below, byOr))
+		x := sample.MixedTree(below, letters, nodes)
+		s := spaced(below, loose(x, below, byOr))
 		if len(s) > 300 {
 			continue
 		}
 		got, err := form.Read(letters, s)
-		if !slices.Equal(got, x.nodes()) || err != nil {
-			t.Errorf("Read(%d, %q) = %v, %v, want %v", letters, s, got, err, x.nodes())
+		if !slices.Equal(got, x.Nodes()) || err != nil {
+			t.Errorf("Read(%d, %q) = %v, %v, want %v", letters, s, got, err, x.Nodes())
 		}
-		if text, err := form.Write(letters, got); text != x.text() || err != nil {
-			t.Errorf("Write(%d, %v) = %q, %v, want %q", letters, got, text, err, x.text())
+		if text, err := form.Write(letters, got); text != textOf(x) || err != nil {
+			t.Errorf("Write(%d, %v) = %q, %v, want %q", letters, got, text, err, textOf(x))
 		}
 	}
 }
@@ -476,8 +476,8 @@ func TestReadSpoilt(t *testing.T) {
 	good, bad := 0, 0
 	for seed := range uint64(30000) {
 		below := sample.Below(seed)
-		x := mixedTree(below, 3, 1+below(12))
-		s := x.loose(below, byOr)
+		x := sample.MixedTree(below, 3, 1+below(12))
+		s := loose(x, below, byOr)
 		for range 1 + below(3) {
 			i := below(len(s))
 			j := min(len(s), i+below(2))
@@ -507,8 +507,8 @@ func TestReadWritten(t *testing.T) {
 		if err != nil {
 			continue
 		}
-		x := unfold(f, nodes-1)
-		want, wrong := x.nodes(), api.OK
+		x := sample.Unfold(f, nodes-1)
+		want, wrong := x.Nodes(), api.OK
 		if len(want) > 40 {
 			want, wrong = nil, api.ErrFull
 			full++
@@ -517,7 +517,7 @@ func TestReadWritten(t *testing.T) {
 		if !slices.Equal(got, want) || plain.Told(err) != wrong {
 			t.Errorf("Read(%d, %q) = %v, %v, want %v, %v", letters, text, got, err, want, wrong)
 		}
-		if err == nil && !equalTrees(unfold(got, len(got)-1), x) {
+		if err == nil && !equalTrees(sample.Unfold(got, len(got)-1), x) {
 			t.Errorf("%v is written as %q, and that is read as %v", f, text, got)
 		}
 		if err == nil && form.Check(letters, got) == nil {

@@ -47,38 +47,6 @@ func wrongOf(letters int, f []api.Node) api.Errno {
 	return api.OK
 }
 
-// tree is a formula: its kind, its set (of Is), and its operands.
-type tree struct {
-	kind, set int
-	parts     []tree
-}
-
-// unfold returns the tree of a node. It may be far larger than the list.
-func unfold(f []api.Node, at int) tree {
-	n := f[at]
-	if n.Kind == 2 {
-		return tree{kind: 2, set: n.A}
-	}
-	x := tree{kind: n.Kind}
-	for _, operand := range []int{n.A, n.B}[:sample.Operands(n.Kind)] {
-		x.parts = append(x.parts, unfold(f, operand))
-	}
-	return x
-}
-
-// nodes follows the words of the order of the nodes: those of A, those of B, the node itself.
-func (x tree) nodes() []api.Node { return x.behind(nil) }
-
-// behind appends the nodes of a tree to others.
-func (x tree) behind(f []api.Node) []api.Node {
-	operands := []int{x.set, 0}
-	for i, part := range x.parts {
-		f = part.behind(f)
-		operands[i] = len(f) - 1
-	}
-	return append(f, sample.Node(x.kind, operands[0], operands[1]))
-}
-
 // setText is the text of a set.
 func setText(set int) string {
 	s := "["
@@ -90,16 +58,16 @@ func setText(set int) string {
 	return s + "]"
 }
 
-// text follows the words of the text of a node.
-func (x tree) text() string {
-	part := func(i int) string { return x.parts[i].text() }
-	switch x.kind {
+// textOf follows the words of the text of a node.
+func textOf(x sample.Tree) string {
+	part := func(i int) string { return textOf(x.Parts[i]) }
+	switch x.Kind {
 	case 0:
 		return "t"
 	case 1:
 		return "f"
 	case 2:
-		return setText(x.set)
+		return setText(x.Set)
 	case 3:
 		return "!" + part(0)
 	case 4:
@@ -142,7 +110,7 @@ func writeSlowly(letters int, f []api.Node) (string, api.Errno) {
 	if lengths(f)[len(f)-1] > 300 {
 		return "", api.ErrFull
 	}
-	return unfold(f, len(f)-1).text(), api.OK
+	return textOf(sample.Unfold(f, len(f)-1)), api.OK
 }
 
 // outside returns the places in a text, outside of all its parentheses, of some signs.
@@ -163,15 +131,15 @@ func outside(s, signs string) []int {
 }
 
 // cut reads what is in front of a place and what is behind it.
-func cut(letters int, s string, at, kind int) (tree, bool) {
+func cut(letters int, s string, at, kind int) (sample.Tree, bool) {
 	a, isA := treeOf(letters, s[:at])
 	b, isB := treeOf(letters, s[at+1:])
-	return tree{kind: kind, parts: []tree{a, b}}, isA && isB
+	return sample.Tree{Kind: kind, Parts: []sample.Tree{a, b}}, isA && isB
 }
 
 // treeOf cuts a text without spaces at the sign that binds most loosely: at the last one if
 // it is left-associative, and at the first one if it is right-associative.
-func treeOf(letters int, s string) (tree, bool) {
+func treeOf(letters int, s string) (sample.Tree, bool) {
 	if places := outside(s, "|"); len(places) > 0 {
 		return cut(letters, s, places[len(places)-1], 5)
 	}
@@ -188,7 +156,7 @@ func treeOf(letters int, s string) (tree, bool) {
 	for sign, kind := range map[string]int{"!": 3, "X": 6, "W": 7} {
 		if rest, is := strings.CutPrefix(s, sign); is {
 			a, isA := treeOf(letters, rest)
-			return tree{kind: kind, parts: []tree{a}}, isA
+			return sample.Tree{Kind: kind, Parts: []sample.Tree{a}}, isA
 		}
 	}
 	if len(s) >= 2 && s[0] == '(' && s[len(s)-1] == ')' {
@@ -196,10 +164,10 @@ func treeOf(letters int, s string) (tree, bool) {
 	}
 	for set := range 1 << letters {
 		if s == setText(set) {
-			return tree{kind: 2, set: set}, true
+			return sample.Tree{Kind: 2, Set: set}, true
 		}
 	}
-	return tree{kind: strings.Index("tf", s)}, s == "t" || s == "f"
+	return sample.Tree{Kind: strings.Index("tf", s)}, s == "t" || s == "f"
 }
 
 // readSlowly follows the words of Read.
@@ -214,27 +182,10 @@ func readSlowly(letters int, s string) ([]api.Node, api.Errno) {
 	if !is {
 		return nil, api.ErrSyntax
 	}
-	if len(x.nodes()) > 40 {
+	if len(x.Nodes()) > 40 {
 		return nil, api.ErrFull
 	}
-	return x.nodes(), api.OK
-}
-
-// mixedTree returns a tree of some nodes.
-func mixedTree(below func(n int) int, letters, nodes int) tree {
-	switch {
-	case nodes == 1 && below(3) > 0:
-		return tree{kind: 2, set: below(1 << letters)}
-	case nodes == 1:
-		return tree{kind: below(2)}
-	case nodes == 2 || below(3) == 0:
-		return tree{kind: []int{3, 6, 7}[below(3)], parts: []tree{mixedTree(below, letters, nodes-1)}}
-	}
-	first := 1 + below(nodes-2)
-	kind := []int{4, 5, 8, 9}[below(4)]
-	a := mixedTree(below, letters, first)
-	b := mixedTree(below, letters, nodes-1-first)
-	return tree{kind: kind, parts: []tree{a, b}}
+	return x.Nodes(), api.OK
 }
 
 // How tightly a text binds.
@@ -247,20 +198,20 @@ const (
 
 // loose returns a text of a tree that binds at least as tightly as it has to, with
 // parentheses where they have to be, and some where they can be.
-func (x tree) loose(below func(n int) int, least int) string {
-	part := func(i, least int) string { return x.parts[i].loose(below, least) }
+func loose(x sample.Tree, below func(n int) int, least int) string {
+	part := func(i, least int) string { return loose(x.Parts[i], below, least) }
 	s, tightly := "", alone
-	switch x.kind {
+	switch x.Kind {
 	case 3, 6, 7:
-		s = string("!  XW"[x.kind-3]) + part(0, alone)
+		s = string("!  XW"[x.Kind-3]) + part(0, alone)
 	case 4:
 		s, tightly = part(0, byAnd)+"&"+part(1, byUntil), byAnd
 	case 5:
 		s, tightly = part(0, byOr)+"|"+part(1, byAnd), byOr
 	case 8, 9:
-		s, tightly = part(0, alone)+string("UR"[x.kind-8])+part(1, byUntil), byUntil
+		s, tightly = part(0, alone)+string("UR"[x.Kind-8])+part(1, byUntil), byUntil
 	default:
-		s = x.text()
+		s = textOf(x)
 	}
 	for tightly < least || below(9) == 0 {
 		s, tightly = "("+s+")", alone
@@ -279,6 +230,6 @@ func spaced(below func(n int) int, s string) string {
 }
 
 // equalTrees tells whether two trees are the same.
-func equalTrees(x, y tree) bool {
-	return x.kind == y.kind && x.set == y.set && slices.EqualFunc(x.parts, y.parts, equalTrees)
+func equalTrees(x, y sample.Tree) bool {
+	return x.Kind == y.Kind && x.Set == y.Set && slices.EqualFunc(x.Parts, y.Parts, equalTrees)
 }
