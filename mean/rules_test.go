@@ -85,16 +85,6 @@ func TestValuesAreLeft(t *testing.T) {
 	}
 }
 
-// spoilBools writes a value over a list and the memory behind its end. The function that
-// it returns tells whether it is still everywhere there.
-func spoilBools(list []bool, value bool) func() bool {
-	list = list[:cap(list)]
-	for i := range list {
-		list[i] = value
-	}
-	return func() bool { return !slices.Contains(list, !value) }
-}
-
 // P2: lists of values share no memory with each other or with arguments, not even behind their ends.
 func TestValuesAreNew(t *testing.T) {
 	for seed := range uint64(200) {
@@ -115,12 +105,12 @@ func TestValuesAreNew(t *testing.T) {
 			thenBefore := slices.Clone(then)
 			first := make()
 			want := slices.Clone(first)
-			intact := spoilBools(first, true)
+			intact := sample.SpoilBools(first, true)
 			again := make()
 			if !slices.Equal(again, want) {
 				t.Errorf("list %d of %v is %v, and then %v", i, f, want, again)
 			}
-			if spoilBools(again, false); !intact() || !slices.Equal(then, thenBefore) {
+			if sample.SpoilBools(again, false); !intact() || !slices.Equal(then, thenBefore) {
 				t.Errorf("list %d of %v shares memory", i, f)
 			}
 		}

@@ -90,6 +90,16 @@ func Fill(list []int, number int) {
 	}
 }
 
+// SpoilBools writes a value everywhere in a list and in the memory behind its end. The function
+// that it returns tells whether it is still everywhere there.
+func SpoilBools(list []bool, value bool) func() bool {
+	list = list[:cap(list)]
+	for i := range list {
+		list[i] = value
+	}
+	return func() bool { return !slices.Contains(list, !value) }
+}
+
 // OnlyErrno tells whether an error is, or wraps, one Errno and no other one.
 func OnlyErrno(err error, want api.Errno) bool {
 	for e := api.OK; e <= api.ErrLate; e++ {

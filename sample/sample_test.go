@@ -173,6 +173,27 @@ func TestFill(t *testing.T) {
 	sample.Fill(nil, 9)
 }
 
+// SpoilBools tells of memory that two lists share, even of what is behind them.
+func TestSpoilBools(t *testing.T) {
+	for _, value := range []bool{false, true} {
+		memory, other := make([]bool, 6), make([]bool, 6)
+		list := memory[1:3:5]
+		intact := sample.SpoilBools(list, value)
+		if sample.SpoilBools(other, !value); !intact() || memory[0] || memory[5] {
+			t.Errorf("behind %v, the memory is %v, and shared: %v", value, memory, !intact())
+		}
+		for _, shared := range [][]bool{list, list[:0], memory[4:]} {
+			intact = sample.SpoilBools(list, value)
+			if sample.SpoilBools(shared, !value); intact() {
+				t.Errorf("memory that %d values share is not seen", cap(shared))
+			}
+		}
+	}
+	if !sample.SpoilBools(nil, true)() {
+		t.Errorf("nothing is said to share memory")
+	}
+}
+
 type wrapped struct{ inner error }
 
 func (w wrapped) Error() string { return "wrapped" }
