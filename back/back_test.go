@@ -25,15 +25,6 @@ func read(t *testing.T, letters int, text string) []api.Node {
 	return f
 }
 
-// finals has a value for each byte of a text: whether it is a +.
-func finals(text string) []bool {
-	var list []bool
-	for i := range len(text) {
-		list = append(list, text[i] == '+')
-	}
-	return list
-}
-
 // 12.1: the states are the lists of values, numbered as they are found, the letters of each in order.
 func TestBack(t *testing.T) {
 	// Behind each case are the lists of its states.
@@ -70,7 +61,7 @@ func TestBack(t *testing.T) {
 		{1, "tRf", [][]int{{1}, {1}}, "+-"},                                                      // 101 100
 	}
 	for _, c := range cases {
-		want := api.Dfa{Letters: c.letters, Next: c.next, Final: finals(c.final)}
+		want := api.Dfa{Letters: c.letters, Next: c.next, Final: sample.Pluses(c.final)}
 		f := read(t, c.letters, c.text)
 		if got, err := back.Back(c.letters, f); !sample.EqualDfas(got, want) || err != nil {
 			t.Errorf("Back of %q over %d letters = %v, %v, want %v", c.text, c.letters, got, err, want)
@@ -97,7 +88,7 @@ func TestBackAllNodes(t *testing.T) {
 		{[]api.Node{node(2, 2, 0), node(2, 2, 0), node(5, 0, 1)}, [][]int{{0, 1}, {0, 1}}, "-+"},
 	}
 	for _, c := range cases {
-		want := api.Dfa{Letters: 2, Next: c.next, Final: finals(c.final)}
+		want := api.Dfa{Letters: 2, Next: c.next, Final: sample.Pluses(c.final)}
 		if got, err := back.Back(2, c.f); !sample.EqualDfas(got, want) || err != nil {
 			t.Errorf("Back(2, %v) = %v, %v, want %v", c.f, got, err, want)
 		}
@@ -297,7 +288,7 @@ func TestMake(t *testing.T) {
 		{2, "tU([0]&XXWf)", [][]int{{1, 0}, {2, 3}, {2, 3}, {1, 0}}, "--++"},
 	}
 	for _, c := range cases {
-		want := api.Dfa{Letters: c.letters, Next: c.next, Final: finals(c.final)}
+		want := api.Dfa{Letters: c.letters, Next: c.next, Final: sample.Pluses(c.final)}
 		f := read(t, c.letters, c.text)
 		if got, err := back.Make(c.letters, f); !sample.EqualDfas(got, want) || err != nil {
 			t.Errorf("Make of %q over %d letters = %v, %v, want %v", c.text, c.letters, got, err, want)

@@ -289,6 +289,23 @@ func TestRunFirstError(t *testing.T) {
 	}
 }
 
+// 6.1: Copy leaves all as it is, and its errors are those of Check.
+func TestCopy(t *testing.T) {
+	all := []api.Dfa{even(), ends(), sample.Mixed(3, 40, 6)}
+	for _, c := range sample.DfaChecks() {
+		all = append(all, c.Dfa)
+	}
+	for _, d := range all {
+		want, wrong := d, wrongOf(d)
+		if wrong != api.OK {
+			want = api.Dfa{}
+		}
+		if got, err := dfa.Copy(d); !sample.EqualDfas(got, want) || plain.Told(err) != wrong {
+			t.Errorf("Copy(%v) = %v, %v, want %v, %v", d, got, err, want, wrong)
+		}
+	}
+}
+
 // 6.3: Not exchanges final states and others, and leaves all else.
 func TestNot(t *testing.T) {
 	cases := []struct{ d, want api.Dfa }{

@@ -85,6 +85,9 @@ func TestArgumentsAreLeft(t *testing.T) {
 var makers = append(slices.Clone(products), product{
 	name: "Not",
 	make: func(a, b api.Dfa) (api.Dfa, error) { return dfa.Not(a) },
+}, product{
+	name: "Copy",
+	make: func(a, b api.Dfa) (api.Dfa, error) { return dfa.Copy(a) },
 })
 
 // P2: results share no memory with arguments or with each other, nor do their rows, not even behind

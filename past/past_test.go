@@ -308,7 +308,7 @@ func TestStart(t *testing.T) {
 		{[]api.Node{node(0, 0, 0), node(11, 0, 0), node(3, 1, 0), node(11, 2, 2), node(5, 3, 2), node(4, 3, 2)}, "+-+-+-"},
 	}
 	for _, c := range cases {
-		if got, err := past.Start(3, c.f); !slices.Equal(got, pluses(c.want)) || err != nil {
+		if got, err := past.Start(3, c.f); !slices.Equal(got, sample.Pluses(c.want)) || err != nil {
 			t.Errorf("Start(3, %v) = %v, %v, want %s", c.f, got, err, c.want)
 		}
 		checkStart(t, 3, c.f)
@@ -345,10 +345,10 @@ func TestFeed(t *testing.T) {
 		{"++++++++++++++", 2, "+--++++++++++-"},
 	}
 	for _, c := range cases {
-		if got, err := past.Feed(3, steps(), pluses(c.was), c.a); !slices.Equal(got, pluses(c.want)) || err != nil {
+		if got, err := past.Feed(3, steps(), sample.Pluses(c.was), c.a); !slices.Equal(got, sample.Pluses(c.want)) || err != nil {
 			t.Errorf("Feed of %s and %d = %v, %v, want %s", c.was, c.a, got, err, c.want)
 		}
-		checkFeed(t, 3, steps(), pluses(c.was), c.a)
+		checkFeed(t, 3, steps(), sample.Pluses(c.was), c.a)
 	}
 }
 

@@ -47,15 +47,6 @@ func digits(text string) []int {
 	return w
 }
 
-// pluses has a value for each byte of a text: whether it is a +.
-func pluses(text string) []bool {
-	values := make([]bool, len(text))
-	for i := range values {
-		values[i] = text[i] == '+'
-	}
-	return values
-}
-
 // allForms returns all formulas of some nodes.
 func allForms(letters, nodes int) [][]api.Node {
 	var all [][]api.Node

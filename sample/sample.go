@@ -90,6 +90,15 @@ func Fill(list []int, number int) {
 	}
 }
 
+// Pluses returns a value for each byte of a text: whether it is a +.
+func Pluses(text string) []bool {
+	values := make([]bool, len(text))
+	for i := range values {
+		values[i] = text[i] == '+'
+	}
+	return values
+}
+
 // SpoilBools writes a value everywhere in a list and in the memory behind its end. The function
 // that it returns tells whether it is still everywhere there.
 func SpoilBools(list []bool, value bool) func() bool {

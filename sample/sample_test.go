@@ -173,6 +173,16 @@ func TestFill(t *testing.T) {
 	sample.Fill(nil, 9)
 }
 
+// Pluses has the value true for a + alone.
+func TestPluses(t *testing.T) {
+	if got := sample.Pluses("+-\x00+,*\xab+"); !slices.Equal(got, []bool{true, false, false, true, false, false, false, true}) {
+		t.Errorf("Pluses = %v", got)
+	}
+	if got := sample.Pluses(""); len(got) != 0 {
+		t.Errorf("Pluses of no byte = %v", got)
+	}
+}
+
 // SpoilBools tells of memory that two lists share, even of what is behind them.
 func TestSpoilBools(t *testing.T) {
 	for _, value := range []bool{false, true} {
