@@ -13,15 +13,6 @@ import (
 	"stileward/sample"
 )
 
-// digits returns the word whose letters are the digits of a text.
-func digits(text string) []int {
-	w := make([]int, len(text))
-	for i := range w {
-		w[i] = int(text[i] - '0')
-	}
-	return w
-}
-
 // read returns the formula of a text over three letters.
 func read(t *testing.T, text string) []api.Node {
 	t.Helper()
@@ -104,10 +95,10 @@ func TestHolds(t *testing.T) {
 		f := read(t, c.text)
 		for _, text := range slices.Concat(c.good, c.bad) {
 			want := slices.Contains(c.good, text)
-			if got, err := mean.Holds(3, f, digits(text)); got != want || err != nil {
+			if got, err := mean.Holds(3, f, sample.Digits(text)); got != want || err != nil {
 				t.Errorf("Holds of %q for %q = %v, %v, want %v", c.text, text, got, err, want)
 			}
-			checkValues(t, 3, f, digits(text))
+			checkValues(t, 3, f, sample.Digits(text))
 		}
 	}
 }
@@ -133,11 +124,11 @@ func TestValues(t *testing.T) {
 		for i := range len(c.want) {
 			want = append(want, c.want[i] != '-')
 		}
-		if got, err := mean.Values(3, f, digits(c.text)); !slices.Equal(got, want) || err != nil {
+		if got, err := mean.Values(3, f, sample.Digits(c.text)); !slices.Equal(got, want) || err != nil {
 			t.Errorf("Values for %q = %v, %v, want %v", c.text, got, err, want)
 		}
 		for last := range f {
-			if got, err := mean.Holds(3, f[:last+1], digits(c.text)); got != want[last] || err != nil {
+			if got, err := mean.Holds(3, f[:last+1], sample.Digits(c.text)); got != want[last] || err != nil {
 				t.Errorf("Holds of %v for %q = %v, %v, want %v", f[:last+1], c.text, got, err, want[last])
 			}
 		}

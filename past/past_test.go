@@ -156,10 +156,10 @@ func TestHolds(t *testing.T) {
 		f := read(t, c.text)
 		for _, text := range slices.Concat(c.good, c.bad) {
 			want := slices.Contains(c.good, text)
-			if got, err := past.Holds(3, f, digits(text)); got != want || err != nil {
+			if got, err := past.Holds(3, f, sample.Digits(text)); got != want || err != nil {
 				t.Errorf("Holds of %q for %q = %v, %v, want %v", c.text, text, got, err, want)
 			}
-			checkWord(t, 3, f, digits(text))
+			checkWord(t, 3, f, sample.Digits(text))
 		}
 	}
 }

@@ -38,15 +38,6 @@ func read(t *testing.T, text string) []api.Node {
 	return turned(f)
 }
 
-// digits returns the word whose letters are the digits of a text.
-func digits(text string) []int {
-	w := make([]int, len(text))
-	for i := range w {
-		w[i] = int(text[i] - '0')
-	}
-	return w
-}
-
 // allForms returns all formulas of some nodes.
 func allForms(letters, nodes int) [][]api.Node {
 	var all [][]api.Node

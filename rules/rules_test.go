@@ -81,3 +81,12 @@ func TestLimits(t *testing.T) {
 		}
 	}
 }
+
+// P3: the constants of the verdicts.
+func TestVerdicts(t *testing.T) {
+	for want, got := range []int{api.Never, api.NotNow, api.Now, api.Forever} {
+		if got != want {
+			t.Errorf("verdict %d is %d", want, got)
+		}
+	}
+}

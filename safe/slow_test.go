@@ -30,7 +30,7 @@ func slowly(d api.Dfa) answers {
 		ever:     sample.CloneDfa(d),
 		class:    classSlowly(d),
 	}
-	for s, goals := range ways(d) {
+	for s, goals := range sample.Ways(d) {
 		alive := false
 		for to, is := range goals {
 			alive = alive || is && d.Final[to]
@@ -46,33 +46,10 @@ func slowly(d api.Dfa) answers {
 	return a
 }
 
-// ways tells for each state to which ones words lead from it: to itself, and to those
-// to which they lead from where its letters do.
-func ways(d api.Dfa) [][]bool {
-	lead := make([][]bool, len(d.Next))
-	for s := range lead {
-		lead[s] = make([]bool, len(d.Next))
-		lead[s][s] = true
-	}
-	for changed := true; changed; {
-		changed = false
-		for s, row := range d.Next {
-			for _, next := range row {
-				for to, is := range lead[next] {
-					if is && !lead[s][to] {
-						lead[s][to], changed = true, true
-					}
-				}
-			}
-		}
-	}
-	return lead
-}
-
 // classSlowly looks for a word and a longer one that begins with it of which one is
 // accepted and the other one is not.
 func classSlowly(d api.Dfa) int {
-	lead := ways(d)
+	lead := sample.Ways(d)
 	class := 3
 	for s, is := range lead[d.Start] {
 		for to, on := range lead[s] {

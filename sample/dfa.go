@@ -107,6 +107,29 @@ func lists(n, bound int) [][]int {
 	return all
 }
 
+// Ways tells for each state to which ones words lead from it: to itself, and to those
+// to which they lead from where its letters do.
+func Ways(d api.Dfa) [][]bool {
+	lead := make([][]bool, len(d.Next))
+	for s := range lead {
+		lead[s] = make([]bool, len(d.Next))
+		lead[s][s] = true
+	}
+	for changed := true; changed; {
+		changed = false
+		for s, row := range d.Next {
+			for _, next := range row {
+				for to, is := range lead[next] {
+					if is && !lead[s][to] {
+						lead[s][to], changed = true, true
+					}
+				}
+			}
+		}
+	}
+	return lead
+}
+
 // CloneDfa returns the same automaton in memory of its own.
 func CloneDfa(d api.Dfa) api.Dfa {
 	rows := d.Next

@@ -114,6 +114,31 @@ func TestNoneFinalAndStarted(t *testing.T) {
 	}
 }
 
+// Ways has what words lead to, and the state itself, from states that no word leads to as well.
+func TestWays(t *testing.T) {
+	cases := []struct {
+		d    api.Dfa
+		want []string
+	}{
+		{sample.Ring(0, 1), []string{"+"}},
+		{sample.Ring(0, 3), []string{"+++", "+++", "+++"}},
+		{sample.Ring(1, 2), []string{"+++", "-++", "-++"}},
+		{sample.Started(sample.Ring(1, 2), 2), []string{"+++", "-++", "-++"}},
+		{sample.Ring(3, 1), []string{"++++", "-+++", "--++", "---+"}},
+		{twoStates(), []string{"++", "++"}},
+		{api.Dfa{Letters: 2, Start: 2, Next: [][]int{{0, 0}, {3, 1}, {1, 0}, {3, 3}}}, []string{"+---", "-+-+", "++++", "---+"}},
+	}
+	for _, c := range cases {
+		var want [][]bool
+		for _, row := range c.want {
+			want = append(want, sample.Pluses(row))
+		}
+		if got := sample.Ways(c.d); !slices.EqualFunc(got, want, slices.Equal) {
+			t.Errorf("Ways(%v) = %v, want %v", c.d, got, want)
+		}
+	}
+}
+
 // isWhole tells whether an automaton has as many states and letters, and is one.
 func isWhole(d api.Dfa, states, letters int) bool {
 	if d.Letters != letters || d.Start < 0 || d.Start >= states || len(d.Next) != states || len(d.Final) != states {

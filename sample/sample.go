@@ -42,6 +42,15 @@ func Word(text string) []int {
 	return w
 }
 
+// Digits returns the word whose letters are the digits of a text.
+func Digits(text string) []int {
+	w := make([]int, len(text))
+	for i := range w {
+		w[i] = int(text[i] - '0')
+	}
+	return w
+}
+
 // Words returns all words of at most n letters, in length-lexicographic order.
 func Words(n, letters int) [][]int {
 	var words [][]int

@@ -55,6 +55,16 @@ func TestWord(t *testing.T) {
 	}
 }
 
+// Digits has the value of each digit.
+func TestDigits(t *testing.T) {
+	if got := sample.Digits("0129"); !slices.Equal(got, []int{0, 1, 2, 9}) {
+		t.Errorf("Digits = %v", got)
+	}
+	if got := sample.Digits(""); len(got) != 0 {
+		t.Errorf("Digits of no digit = %v", got)
+	}
+}
+
 // Words has each short word once, the shorter words first.
 func TestWords(t *testing.T) {
 	cases := []struct {
