@@ -38,12 +38,6 @@ func made(t *testing.T, d api.Dfa, make func(d api.Dfa) (api.Dfa, error)) api.Df
 	return got
 }
 
-// withFinals returns an automaton in which other states are final.
-func withFinals(d api.Dfa, text string) api.Dfa {
-	d.Final = sample.Pluses(text)
-	return d
-}
-
 // withRows returns an automaton with other rows.
 func withRows(d api.Dfa, rows ...[]int) api.Dfa {
 	d.Next = rows
@@ -90,27 +84,27 @@ func ofMoreStates() []given {
 			"---", "+++", [][]int{{0}, {1}, {2}}, [][]int{{1}, {2}, {1}}, 3,
 		},
 		{
-			"every word by more states", withFinals(sample.Ring(1, 2), "+++"),
+			"every word by more states", sample.WithFinals(sample.Ring(1, 2), "+++"),
 			"+++", "+++", [][]int{{1}, {2}, {1}}, [][]int{{0}, {1}, {2}}, 3,
 		},
 		{
-			"the empty word", withFinals(sample.Ring(1, 1), "+-"),
+			"the empty word", sample.WithFinals(sample.Ring(1, 1), "+-"),
 			"+-", "++", [][]int{{1}, {1}}, [][]int{{0}, {1}}, 1,
 		},
 		{
-			"all but the empty word", withFinals(sample.Ring(1, 1), "-+"),
+			"all but the empty word", sample.WithFinals(sample.Ring(1, 1), "-+"),
 			"++", "-+", [][]int{{0}, {1}}, [][]int{{1}, {1}}, 2,
 		},
 		{
-			"an even number of letters", withFinals(sample.Ring(0, 2), "+-"),
+			"an even number of letters", sample.WithFinals(sample.Ring(0, 2), "+-"),
 			"++", "+-", [][]int{{1}, {1}}, [][]int{{0}, {0}}, 0,
 		},
 		{
-			"an odd number of letters", withFinals(sample.Ring(0, 2), "-+"),
+			"an odd number of letters", sample.WithFinals(sample.Ring(0, 2), "-+"),
 			"++", "-+", [][]int{{0}, {0}}, [][]int{{1}, {1}}, 0,
 		},
 		{
-			"one letter alone", withFinals(sample.Ring(2, 1), "-+-"),
+			"one letter alone", sample.WithFinals(sample.Ring(2, 1), "-+-"),
 			"++-", "-++", [][]int{{0}, {2}, {2}}, [][]int{{1}, {1}, {2}}, 0,
 		},
 		{
@@ -120,7 +114,7 @@ func ofMoreStates() []given {
 			[][]int{{4, 2}, {3, 5}, {2, 2}, {0, 4}, {4, 4}, {5, 5}}, 0,
 		},
 		{
-			"one word and its beginnings", withFinals(onlyEnd(), "+-++-+"),
+			"one word and its beginnings", sample.WithFinals(onlyEnd(), "+-++-+"),
 			"++++-+", "+-++++",
 			[][]int{{4, 2}, {1, 1}, {4, 4}, {0, 4}, {4, 4}, {4, 0}},
 			[][]int{{0, 0}, {3, 5}, {2, 2}, {3, 3}, {4, 4}, {5, 5}}, 1,
@@ -151,7 +145,7 @@ func ofMoreStates() []given {
 // 14.1: Letters, states and Start are those of the automaton, and all else is as each function says.
 func TestMakers(t *testing.T) {
 	for _, c := range examples() {
-		wants := []api.Dfa{withFinals(c.d, c.prefixes), withFinals(c.d, c.rest), withRows(c.d, c.always...), withRows(c.d, c.ever...)}
+		wants := []api.Dfa{sample.WithFinals(c.d, c.prefixes), sample.WithFinals(c.d, c.rest), withRows(c.d, c.always...), withRows(c.d, c.ever...)}
 		for i, m := range makers {
 			if got, err := m.make(c.d); !sample.EqualDfas(got, wants[i]) || err != nil {
 				t.Errorf("%s: %s of %v = %v, %v, want %v", c.name, m.name, c.d, got, err, wants[i])

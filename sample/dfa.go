@@ -68,6 +68,12 @@ func NoneFinal(d api.Dfa) api.Dfa {
 	return d
 }
 
+// WithFinals returns an automaton in which the states are final that have a + in a text.
+func WithFinals(d api.Dfa, text string) api.Dfa {
+	d.Final = Pluses(text)
+	return d
+}
+
 // Started returns an automaton that starts elsewhere.
 func Started(d api.Dfa, start int) api.Dfa {
 	d.Start = start

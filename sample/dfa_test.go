@@ -98,13 +98,17 @@ func TestOneFinal(t *testing.T) {
 	}
 }
 
-// NoneFinal and Started change one thing each, and nothing in the automaton that is given.
-func TestNoneFinalAndStarted(t *testing.T) {
-	d, none, started := twoStates(), twoStates(), twoStates()
+// NoneFinal, WithFinals and Started change one thing each, and nothing in the automaton that is given.
+func TestOneThingChanged(t *testing.T) {
+	d, none, others, started := twoStates(), twoStates(), twoStates(), twoStates()
 	none.Final[0] = false
+	others.Final[0], others.Final[1] = false, true
 	started.Start = 0
 	if got := sample.NoneFinal(d); !sample.EqualDfas(got, none) {
 		t.Errorf("NoneFinal(%v) = %v", d, got)
+	}
+	if got := sample.WithFinals(d, "-+"); !sample.EqualDfas(got, others) {
+		t.Errorf("WithFinals(%v) = %v", d, got)
 	}
 	if got := sample.Started(d, 0); !sample.EqualDfas(got, started) {
 		t.Errorf("Started(%v, 0) = %v", d, got)

@@ -80,6 +80,16 @@ func Below(seed uint64) func(n int) int {
 	}
 }
 
+// MixedWord returns a word out of the numbers of Below.
+func MixedWord(seed uint64, length, letters int) []int {
+	below := Below(seed)
+	w := make([]int, length)
+	for i := range w {
+		w[i] = below(letters)
+	}
+	return w
+}
+
 // behind is what no function may find behind the end of an argument.
 const behind = -7
 

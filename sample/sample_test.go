@@ -135,6 +135,33 @@ func TestBelow(t *testing.T) {
 	}
 }
 
+// MixedWord is the same for the same seed, and another one for others, and has all letters.
+func TestMixedWord(t *testing.T) {
+	found := map[string]bool{}
+	for seed := range uint64(100) {
+		w := sample.MixedWord(seed, 100, 6)
+		if !slices.Equal(w, sample.MixedWord(seed, 100, 6)) {
+			t.Errorf("MixedWord(%d, 100, 6) is not always the same", seed)
+		}
+		text := ""
+		known := map[int]bool{}
+		for _, a := range w {
+			text += strconv.Itoa(a)
+			known[a] = true
+		}
+		found[text] = true
+		if all := slices.Sorted(maps.Keys(known)); len(w) != 100 || !slices.Equal(all, []int{0, 1, 2, 3, 4, 5}) {
+			t.Errorf("MixedWord(%d, 100, 6) = %v", seed, w)
+		}
+	}
+	if len(found) != 100 {
+		t.Errorf("there are %d words of 100 seeds", len(found))
+	}
+	if w := sample.MixedWord(3, 0, 6); len(w) != 0 {
+		t.Errorf("MixedWord(3, 0, 6) = %v", w)
+	}
+}
+
 // Checks has words with each error of word.Check and with none, each under a name of its own.
 func TestChecks(t *testing.T) {
 	names := map[string]bool{}

@@ -34,12 +34,6 @@ type given struct {
 	watch bool
 }
 
-// withFinals returns an automaton in which other states are final.
-func withFinals(d api.Dfa, text string) api.Dfa {
-	d.Final = sample.Pluses(text)
-	return d
-}
-
 // crossroads settles all by one letter and by two, and that from state 4 on well, from state 5 on badly.
 func crossroads() api.Dfa {
 	return api.Dfa{
@@ -78,13 +72,13 @@ func ofOneLetter() []given {
 	return []given{
 		{"every word", sample.Ring(0, 1), []said{{"", 3, ""}, {"0", 3, ""}, {"000", 3, ""}}, true},
 		{"no word", sample.NoneFinal(sample.Ring(0, 1)), []said{{"", 0, ""}, {"0", 0, ""}, {"000", 0, ""}}, true},
-		{"every word by more states", withFinals(sample.Ring(1, 2), "+++"), []said{{"", 3, ""}, {"0", 3, ""}, {"00", 3, ""}}, true},
+		{"every word by more states", sample.WithFinals(sample.Ring(1, 2), "+++"), []said{{"", 3, ""}, {"0", 3, ""}, {"00", 3, ""}}, true},
 		{"no word by more states", sample.NoneFinal(sample.Ring(1, 2)), []said{{"", 0, ""}, {"0", 0, ""}, {"00", 0, ""}}, true},
-		{"the empty word", withFinals(sample.Ring(1, 1), "+-"), []said{{"", 2, "0"}, {"0", 0, ""}, {"00", 0, ""}}, true},
-		{"all but the empty word", withFinals(sample.Ring(1, 1), "-+"), []said{{"", 1, "0"}, {"0", 3, ""}, {"00", 3, ""}}, true},
-		{"one letter alone", withFinals(sample.Ring(2, 1), "-+-"), []said{{"", 1, "00"}, {"0", 2, "0"}, {"00", 0, ""}}, true},
-		{"all but one letter", withFinals(sample.Ring(2, 1), "+-+"), []said{{"", 2, "00"}, {"0", 1, "0"}, {"00", 3, ""}}, true},
-		{"an even number of letters", withFinals(sample.Ring(0, 2), "+-"), []said{{"", 2, none}, {"0", 1, none}, {"00", 2, none}}, false},
+		{"the empty word", sample.WithFinals(sample.Ring(1, 1), "+-"), []said{{"", 2, "0"}, {"0", 0, ""}, {"00", 0, ""}}, true},
+		{"all but the empty word", sample.WithFinals(sample.Ring(1, 1), "-+"), []said{{"", 1, "0"}, {"0", 3, ""}, {"00", 3, ""}}, true},
+		{"one letter alone", sample.WithFinals(sample.Ring(2, 1), "-+-"), []said{{"", 1, "00"}, {"0", 2, "0"}, {"00", 0, ""}}, true},
+		{"all but one letter", sample.WithFinals(sample.Ring(2, 1), "+-+"), []said{{"", 2, "00"}, {"0", 1, "0"}, {"00", 3, ""}}, true},
+		{"an even number of letters", sample.WithFinals(sample.Ring(0, 2), "+-"), []said{{"", 2, none}, {"0", 1, none}, {"00", 2, none}}, false},
 		{"a final state that is left", sample.Ring(2, 2), []said{{"", 1, none}, {"000", 2, none}, {"0000", 1, none}}, false},
 		{
 			"states that no word leads to", api.Dfa{Letters: 1, Start: 2, Next: [][]int{{1}, {0}, {2}}, Final: sample.Pluses("+-+")},
@@ -247,16 +241,6 @@ func ended(seed uint64, states, letters int) api.Dfa {
 	return d
 }
 
-// mixedWord returns a word out of the numbers of Below.
-func mixedWord(seed uint64, length, letters int) []int {
-	below := sample.Below(seed)
-	w := make([]int, length)
-	for i := range w {
-		w[i] = below(letters)
-	}
-	return w
-}
-
 // several returns automata of all sizes, of which many have states that are settled and others.
 func several(seed uint64) []api.Dfa {
 	states, letters := 1+int(seed)%40, 1+int(seed)/40%6
@@ -269,7 +253,7 @@ func TestMixed(t *testing.T) {
 	for seed := range uint64(480) {
 		for _, d := range several(seed) {
 			for _, length := range []int{int(seed) % 4, int(seed) % 81} {
-				w := mixedWord(seed, length, d.Letters)
+				w := sample.MixedWord(seed, length, d.Letters)
 				want := slowly(d, w)
 				check(t, d, w, want)
 				verdicts[want.verdict]++
@@ -352,7 +336,7 @@ func TestSoonestPrecedesAll(t *testing.T) {
 	for seed := range uint64(400) {
 		letters := 2 + int(seed)%2
 		d := ended(seed, 3+int(seed)%7, letters)
-		w := mixedWord(seed, int(seed)%5, letters)
+		w := sample.MixedWord(seed, int(seed)%5, letters)
 		soonest, wrong := verdict.Soonest(d, w)
 		for _, v := range sample.Words(5, letters) {
 			of, err := verdict.Of(d, slices.Concat(w, v))
@@ -373,7 +357,7 @@ func TestSoonestPrecedesAll(t *testing.T) {
 func TestSettledStays(t *testing.T) {
 	for seed := range uint64(480) {
 		for _, d := range several(seed) {
-			w := mixedWord(seed, int(seed)%40, d.Letters)
+			w := sample.MixedWord(seed, int(seed)%40, d.Letters)
 			soonest, err := verdict.Soonest(d, w)
 			if err != nil {
 				continue
@@ -405,7 +389,7 @@ func TestSettledStays(t *testing.T) {
 func TestNot(t *testing.T) {
 	for seed := range uint64(480) {
 		for _, d := range several(seed) {
-			w := mixedWord(seed, int(seed)%81, d.Letters)
+			w := sample.MixedWord(seed, int(seed)%81, d.Letters)
 			not, _ := dfa.Not(d)
 			want := answers{verdict: 3}
 			of, err := verdict.Of(d, w)
@@ -430,7 +414,7 @@ func TestMinimal(t *testing.T) {
 			if err != nil {
 				t.Fatalf("Minimal(%v) = %v", d, err)
 			}
-			w := mixedWord(seed, int(seed)%81, d.Letters)
+			w := sample.MixedWord(seed, int(seed)%81, d.Letters)
 			check(t, minimal, w, slowly(d, w))
 		}
 	}
@@ -441,7 +425,7 @@ func TestMinimal(t *testing.T) {
 func TestClasses(t *testing.T) {
 	for seed := range uint64(1000) {
 		for _, d := range several(seed) {
-			w := mixedWord(seed, int(seed)%9, d.Letters)
+			w := sample.MixedWord(seed, int(seed)%9, d.Letters)
 			prefixes, _ := safe.Prefixes(d)
 			begins, err := dfa.Accepts(prefixes, w)
 			if of, wrong := verdict.Of(d, w); begins == (of == api.Never) || err != nil || wrong != nil {
