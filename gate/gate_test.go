@@ -1,7 +1,6 @@
 package gate_test
 
 import (
-	"math"
 	"slices"
 	"testing"
 
@@ -180,14 +179,11 @@ func TestNewErrors(t *testing.T) {
 	}
 }
 
-// noLetters are numbers that are no letters, whatever the alphabet.
-func noLetters() []int { return []int{-1, 6, 7, -6, 256, 1 << 32, math.MinInt, math.MaxInt} }
-
 // checkNoLetters demands that what is no letter is ErrRange, and that nothing changes by it.
 func checkNoLetters(t *testing.T, d api.Dfa, g *gate.Gate) {
 	t.Helper()
 	want := step{wrong: api.ErrRange, out: g.Out(), shut: g.Shut()}
-	for _, a := range append(noLetters(), d.Letters) {
+	for _, a := range append(sample.NoLetters(), d.Letters) {
 		if got := offered(g, a); !equalSteps(got, want) {
 			t.Errorf("of %v, the offer %d has %v, want %v", d, a, got, want)
 		}
@@ -267,7 +263,7 @@ func TestAll(t *testing.T) {
 		texts := sample.Texts(2*(c.states-1), sample.Bytes()[:c.letters])
 		all := sample.AllDfas(c.states, c.letters)
 		for i := 0; i < len(all); i += c.step {
-			accepted := language(all[i], texts)
+			accepted := sample.Language(all[i], texts)
 			want := wrongOfTexts(accepted)
 			if _, err := gate.New(all[i]); plain.Told(err) != want {
 				t.Errorf("New(%v) = %v, want %v", all[i], err, want)
@@ -325,24 +321,12 @@ func several(t *testing.T, seed uint64) []api.Dfa {
 	return []api.Dfa{mixed, always, prefixes, mostlyFinal(t, seed, states, letters)}
 }
 
-// mixedOffers returns letters, and now and then what is no letter.
-func mixedOffers(seed uint64, length, letters int) []int {
-	offers := sample.MixedWord(seed, length, letters)
-	bad := noLetters()
-	for i, at := range sample.MixedWord(seed+1, length, 12*len(bad)) {
-		if at < len(bad) {
-			offers[i] = bad[at]
-		}
-	}
-	return offers
-}
-
 // 16.1: for automata of all sizes and offers of all numbers, the functions do what the words of the chapter say.
 func TestMixed(t *testing.T) {
 	errors, outs := map[api.Errno]int{}, map[int]int{}
 	for seed := range uint64(960) {
 		for _, d := range several(t, seed) {
-			offers := mixedOffers(seed, int(seed)%120, d.Letters)
+			offers := sample.MixedOffers(seed, int(seed)%120, d.Letters)
 			check(t, d, offers)
 			wrong := wrongOf(d)
 			errors[wrong]++

@@ -28,19 +28,10 @@ func wrongOf(d api.Dfa) api.Errno {
 	if class, _ := safe.Class(d); class != 1 && class != 3 {
 		return api.ErrShape
 	}
-	if !isAccepted(d, nil) {
+	if !sample.Accepts(d, nil) {
 		return api.ErrLost
 	}
 	return api.OK
-}
-
-// isAccepted tells whether a word leads to a final state, however long it is.
-func isAccepted(d api.Dfa, w []int) bool {
-	s := d.Start
-	for _, a := range w {
-		s = d.Next[s][a]
-	}
-	return d.Final[s]
 }
 
 // slowly returns the steps of offers to a new gate, one behind the other.
@@ -55,7 +46,7 @@ func slowly(d api.Dfa, offers []int) []step {
 			at.wrong = api.ErrRange
 		case !shut && len(passed) >= 80:
 			at.wrong = api.ErrFull
-		case !shut && isAccepted(d, append(slices.Clone(passed), a)):
+		case !shut && sample.Accepts(d, append(slices.Clone(passed), a)):
 			passed = append(passed, a)
 			at.passes = true
 		default:
@@ -65,17 +56,6 @@ func slowly(d api.Dfa, offers []int) []step {
 		steps = append(steps, at)
 	}
 	return steps
-}
-
-// language has the texts, whose bytes are letters, that an automaton accepts.
-func language(d api.Dfa, texts []string) map[string]bool {
-	accepted := map[string]bool{}
-	for _, text := range texts {
-		if isAccepted(d, sample.Word(text)) {
-			accepted[text] = true
-		}
-	}
-	return accepted
 }
 
 // wrongOfTexts is what is wrong with an automaton for New, by the texts it accepts.

@@ -136,6 +136,26 @@ func Ways(d api.Dfa) [][]bool {
 	return lead
 }
 
+// Accepts tells whether a word leads to a final state, however long it is.
+func Accepts(d api.Dfa, w []int) bool {
+	s := d.Start
+	for _, a := range w {
+		s = d.Next[s][a]
+	}
+	return d.Final[s]
+}
+
+// Language has those of some texts, whose bytes are letters, that an automaton accepts.
+func Language(d api.Dfa, texts []string) map[string]bool {
+	accepted := map[string]bool{}
+	for _, text := range texts {
+		if Accepts(d, Word(text)) {
+			accepted[text] = true
+		}
+	}
+	return accepted
+}
+
 // CloneDfa returns the same automaton in memory of its own.
 func CloneDfa(d api.Dfa) api.Dfa {
 	rows := d.Next

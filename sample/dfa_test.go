@@ -1,6 +1,7 @@
 package sample_test
 
 import (
+	"maps"
 	"slices"
 	"strconv"
 	"testing"
@@ -140,6 +141,43 @@ func TestWays(t *testing.T) {
 		if got := sample.Ways(c.d); !slices.EqualFunc(got, want, slices.Equal) {
 			t.Errorf("Ways(%v) = %v, want %v", c.d, got, want)
 		}
+	}
+}
+
+// Accepts follows the letters from the start, through more of them than MaxWord as well.
+func TestAccepts(t *testing.T) {
+	d := api.Dfa{Letters: 2, Start: 1, Next: [][]int{{0, 1}, {2, 1}, {0, 2}}, Final: sample.Pluses("+--")}
+	cases := []struct {
+		d    api.Dfa
+		w    []int
+		want bool
+	}{
+		{d, nil, false},
+		{d, []int{0}, false},
+		{d, []int{0, 0}, true},
+		{d, []int{1, 0, 1, 0}, true},
+		{d, []int{1, 0, 1, 0, 1}, false},
+		{sample.Started(d, 0), nil, true},
+		{sample.Ring(0, 3), sample.Repeated(200, 0), true},
+		{sample.Ring(0, 3), sample.Repeated(201, 0), false},
+	}
+	for _, c := range cases {
+		if got := sample.Accepts(c.d, c.w); got != c.want {
+			t.Errorf("Accepts(%v, %v) = %v", c.d, c.w, got)
+		}
+	}
+}
+
+// Language has the accepted texts, and no other ones.
+func TestLanguage(t *testing.T) {
+	texts := sample.Texts(4, "\x00")
+	got := sample.Language(sample.Started(sample.Ring(0, 3), 2), texts)
+	want := map[string]bool{"": true, "\x00\x00\x00": true}
+	if !maps.Equal(got, want) {
+		t.Errorf("Language of %q = %v, want %v", texts, got, want)
+	}
+	if got := sample.Language(sample.NoneFinal(sample.Ring(0, 3)), texts); len(got) != 0 {
+		t.Errorf("Language without a final state = %v", got)
 	}
 }
 

@@ -4,6 +4,7 @@ package sample
 
 import (
 	"errors"
+	"math"
 	"slices"
 
 	"stileward/api"
@@ -88,6 +89,21 @@ func MixedWord(seed uint64, length, letters int) []int {
 		w[i] = below(letters)
 	}
 	return w
+}
+
+// NoLetters returns numbers that are no letters, whatever the alphabet.
+func NoLetters() []int { return []int{-1, 6, 7, -6, 256, 1 << 32, math.MinInt, math.MaxInt} }
+
+// MixedOffers returns the word of MixedWord, but now and then with what is no letter.
+func MixedOffers(seed uint64, length, letters int) []int {
+	offers := MixedWord(seed, length, letters)
+	bad := NoLetters()
+	for i, at := range MixedWord(seed+1, length, 12*len(bad)) {
+		if at < len(bad) {
+			offers[i] = bad[at]
+		}
+	}
+	return offers
 }
 
 // behind is what no function may find behind the end of an argument.

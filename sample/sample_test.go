@@ -162,6 +162,44 @@ func TestMixedWord(t *testing.T) {
 	}
 }
 
+// NoLetters has nothing that is a letter of any alphabet.
+func TestNoLetters(t *testing.T) {
+	for _, a := range sample.NoLetters() {
+		if a >= 0 && a < api.MaxLetters {
+			t.Errorf("%d is a letter", a)
+		}
+	}
+}
+
+// MixedOffers is the word of MixedWord but for a few numbers, each of which is no letter.
+func TestMixedOffers(t *testing.T) {
+	found := map[int]int{}
+	for seed := range uint64(100) {
+		offers, w := sample.MixedOffers(seed, 100, 3), sample.MixedWord(seed, 100, 3)
+		if len(offers) != 100 || !slices.Equal(offers, sample.MixedOffers(seed, 100, 3)) {
+			t.Fatalf("MixedOffers(%d, 100, 3) = %v, and not always", seed, offers)
+		}
+		for i, a := range offers {
+			if a != w[i] {
+				found[a]++
+			}
+		}
+	}
+	others := 0
+	for a, often := range found {
+		others += often
+		if !slices.Contains(sample.NoLetters(), a) {
+			t.Errorf("%d is put for another number", a)
+		}
+	}
+	if len(found) != len(sample.NoLetters()) || others < 100 || others > 2000 {
+		t.Errorf("these numbers are put for others: %v", found)
+	}
+	if offers := sample.MixedOffers(3, 0, 6); len(offers) != 0 {
+		t.Errorf("MixedOffers(3, 0, 6) = %v", offers)
+	}
+}
+
 // Checks has words with each error of word.Check and with none, each under a name of its own.
 func TestChecks(t *testing.T) {
 	names := map[string]bool{}

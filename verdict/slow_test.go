@@ -120,16 +120,6 @@ func soonestSlowly(d api.Dfa, s int, all []int) ([]int, bool) {
 	return nil, false
 }
 
-// language tells of texts, whose bytes are letters, whether an automaton accepts them.
-func language(d api.Dfa, texts []string) map[string]bool {
-	accepted := map[string]bool{}
-	for _, text := range texts {
-		is, _ := dfa.Accepts(d, sample.Word(text))
-		accepted[text] = is
-	}
-	return accepted
-}
-
 // verdictOfTexts is the verdict for a text by all the ends it may go on with.
 func verdictOfTexts(accepted map[string]bool, w string, ends []string) int {
 	some, every := false, true

@@ -210,7 +210,7 @@ func TestAll(t *testing.T) {
 		ends, texts := sample.Texts(longest, letters), sample.Texts(3*longest, letters)
 		all := sample.AllDfas(c.states, c.letters)
 		for i := 0; i < len(all); i += c.step {
-			checkLanguage(t, all[i], language(all[i], texts), ends)
+			checkLanguage(t, all[i], sample.Language(all[i], texts), ends)
 		}
 	}
 }
