@@ -74,6 +74,7 @@ func TestLimits(t *testing.T) {
 		{"MaxMoves", api.MaxMoves, 240},
 		{"MaxNodes", api.MaxNodes, 40},
 		{"MaxText", api.MaxText, 300},
+		{"MaxPlaces", api.MaxPlaces, 40},
 	}
 	for _, c := range cases {
 		if c.got != c.want {
