@@ -45,32 +45,8 @@ func checkSlowly(t *testing.T, d api.Dfa, w []int, want answers) {
 	}
 }
 
-// among returns the automaton of three letters that accepts some words, which are written as
-// digits: its states are their beginnings, and behind all others the last one.
-func among(words ...string) api.Dfa {
-	begun := []string{""}
-	for _, w := range words {
-		for n := range len(w) {
-			if !slices.Contains(begun, w[:n+1]) {
-				begun = append(begun, w[:n+1])
-			}
-		}
-	}
-	d := api.Dfa{Letters: 3}
-	for _, w := range begun {
-		row := sample.Repeated(3, len(begun))
-		for a := range row {
-			if s := slices.Index(begun, w+string(rune('0'+a))); s >= 0 {
-				row[a] = s
-			}
-		}
-		d.Next = append(d.Next, row)
-		d.Final = append(d.Final, slices.Contains(words, w))
-	}
-	d.Next = append(d.Next, sample.Repeated(3, len(begun)))
-	d.Final = append(d.Final, false)
-	return d
-}
+// among returns the automaton of three letters that accepts some words, which are written as digits.
+func among(words ...string) api.Dfa { return sample.Among(3, words...) }
 
 // noZeros accepts the words of three letters without two 0s one behind the other.
 func noZeros() api.Dfa {

@@ -40,6 +40,33 @@ func Ring(before, around int) api.Dfa {
 	return d
 }
 
+// Among returns the automaton of some letters that accepts some words, which are written as
+// digits: its states are their beginnings, and behind all others the last one.
+func Among(letters int, words ...string) api.Dfa {
+	begun := []string{""}
+	for _, w := range words {
+		for n := range len(w) {
+			if !slices.Contains(begun, w[:n+1]) {
+				begun = append(begun, w[:n+1])
+			}
+		}
+	}
+	d := api.Dfa{Letters: letters}
+	for _, w := range begun {
+		row := Repeated(letters, len(begun))
+		for a := range row {
+			if s := slices.Index(begun, w+string(rune('0'+a))); s >= 0 {
+				row[a] = s
+			}
+		}
+		d.Next = append(d.Next, row)
+		d.Final = append(d.Final, slices.Contains(words, w))
+	}
+	d.Next = append(d.Next, Repeated(letters, len(begun)))
+	d.Final = append(d.Final, false)
+	return d
+}
+
 // Mixed returns an automaton out of the numbers of Below.
 func Mixed(seed uint64, states, letters int) api.Dfa {
 	below := Below(seed)

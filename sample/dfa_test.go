@@ -56,6 +56,29 @@ func TestRing(t *testing.T) {
 	}
 }
 
+// Among accepts its words and no other ones, and begins with their beginnings.
+func TestAmong(t *testing.T) {
+	cases := []struct {
+		letters int
+		words   []string
+		want    api.Dfa
+	}{
+		{1, nil, api.Dfa{Letters: 1, Next: [][]int{{1}, {1}}, Final: sample.Pluses("--")}},
+		{2, []string{""}, api.Dfa{Letters: 2, Next: [][]int{{1, 1}, {1, 1}}, Final: sample.Pluses("+-")}},
+		{2, []string{"10", "1", "10"}, api.Dfa{
+			Letters: 2, Next: [][]int{{3, 1}, {2, 3}, {3, 3}, {3, 3}}, Final: sample.Pluses("-++-"),
+		}},
+		{3, []string{"02", "00"}, api.Dfa{
+			Letters: 3, Next: [][]int{{1, 4, 4}, {3, 4, 2}, {4, 4, 4}, {4, 4, 4}, {4, 4, 4}}, Final: sample.Pluses("--++-"),
+		}},
+	}
+	for _, c := range cases {
+		if got := sample.Among(c.letters, c.words...); !sample.EqualDfas(got, c.want) {
+			t.Errorf("Among(%d, %q) = %v, want %v", c.letters, c.words, got, c.want)
+		}
+	}
+}
+
 // Mixed is the same for the same seed, and another one for others, and has nothing but states.
 func TestMixed(t *testing.T) {
 	found := map[string]bool{}
