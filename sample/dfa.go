@@ -183,6 +183,26 @@ func Language(d api.Dfa, texts []string) map[string]bool {
 	return accepted
 }
 
+// IsPart tells whether all that an automaton accepts is accepted by another one of as many letters.
+func IsPart(part, whole api.Dfa) bool {
+	type pair struct{ s, t int }
+	all := []pair{{part.Start, whole.Start}}
+	known := map[pair]bool{all[0]: true}
+	for i := 0; i < len(all); i++ {
+		at := all[i]
+		if part.Final[at.s] && !whole.Final[at.t] {
+			return false
+		}
+		for letter, s := range part.Next[at.s] {
+			if next := (pair{s, whole.Next[at.t][letter]}); !known[next] {
+				known[next] = true
+				all = append(all, next)
+			}
+		}
+	}
+	return true
+}
+
 // CloneDfa returns the same automaton in memory of its own.
 func CloneDfa(d api.Dfa) api.Dfa {
 	rows := d.Next
@@ -278,6 +298,25 @@ func MakesNew(given api.Dfa, maker func(d api.Dfa) (api.Dfa, error)) bool {
 	left := intactD()
 	SpoilDfa(d, -302)
 	return same && left && intact() && intactAgain()
+}
+
+// WordsAreNew tells whether a function without an error for two automata returns the same word
+// each time, which is not the empty one, in memory that is shared neither with the automata nor
+// with other results.
+func WordsAreNew(givenA, givenB api.Dfa, word func(a, b api.Dfa) ([]int, error)) bool {
+	a, intactA := RoomyDfa(givenA)
+	b, intactB := RoomyDfa(givenB)
+	first, err := word(a, b)
+	want := slices.Clone(first)
+	Fill(first, -1)
+	again, wrong := word(a, b)
+	same := slices.Equal(again, want) && len(want) > 0 && err == nil && wrong == nil
+	left := intactA() && intactB()
+	SpoilDfa(a, -100)
+	SpoilDfa(b, -201)
+	stays := slices.Equal(again, want)
+	Fill(again, -2)
+	return same && left && stays && !slices.Contains(first[:cap(first)], -2)
 }
 
 // wide returns the automaton of some states and letters in which all letters

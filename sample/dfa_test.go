@@ -260,6 +260,30 @@ func TestAllDfas(t *testing.T) {
 	}
 }
 
+// IsPart compares the words of two automata, of which all that there are here differ by short ones.
+func TestIsPart(t *testing.T) {
+	for letters := 1; letters <= 2; letters++ {
+		texts := sample.Texts(4, sample.Bytes()[:letters])
+		all := sample.AllDfas(2, letters)
+		for i := 0; i < len(all); i += letters {
+			for j := 0; j < len(all); j += 3 {
+				want := true
+				whole := sample.Language(all[j], texts)
+				for text := range sample.Language(all[i], texts) {
+					want = want && whole[text]
+				}
+				if got := sample.IsPart(all[i], all[j]); got != want {
+					t.Errorf("IsPart(%v, %v) = %v", all[i], all[j], got)
+				}
+			}
+		}
+	}
+	part, whole := sample.Ring(40, 41), sample.Ring(0, 1)
+	if !sample.IsPart(part, whole) || sample.IsPart(whole, part) {
+		t.Errorf("a word of 80 letters is none, or all words are that one")
+	}
+}
+
 // CloneDfa has the same automaton in memory of its own.
 func TestCloneDfa(t *testing.T) {
 	d := twoStates()
@@ -425,6 +449,47 @@ func TestMakesNew(t *testing.T) {
 	for i, c := range makers {
 		if sample.MakesNew(twoStates(), c.maker) != c.new {
 			t.Errorf("function %d: MakesNew = %v", i, !c.new)
+		}
+	}
+}
+
+// WordsAreNew sees memory that is shared, results that change, errors and words without letters.
+func TestWordsAreNew(t *testing.T) {
+	kept := []int{0, 1, 2}
+	calls := 0
+	cases := []struct {
+		word func(a, b api.Dfa) ([]int, error)
+		new  bool
+	}{
+		{func(a, b api.Dfa) ([]int, error) { return []int{0, 1}, nil }, true},
+		{func(a, b api.Dfa) ([]int, error) { return slices.Clone(a.Next[0]), nil }, true},
+		{func(a, b api.Dfa) ([]int, error) { return a.Next[1], nil }, false},
+		{func(a, b api.Dfa) ([]int, error) { return b.Next[0][:1:1], nil }, false},
+		{func(a, b api.Dfa) ([]int, error) { return b.Next[0][1:], nil }, false},
+		{func(a, b api.Dfa) ([]int, error) {
+			a.Next[0] = slices.Clone(a.Next[0])
+			return []int{0, 1}, nil
+		}, false},
+		{func(a, b api.Dfa) ([]int, error) {
+			b.Final[0] = true
+			return []int{0, 1}, nil
+		}, false},
+		{func(a, b api.Dfa) ([]int, error) { return kept, nil }, false},
+		{func(a, b api.Dfa) ([]int, error) {
+			// There is room behind each, where the letter of the other one is.
+			calls++
+			return append(kept[calls%2:calls%2], 5), nil
+		}, false},
+		{func(a, b api.Dfa) ([]int, error) {
+			calls++
+			return []int{calls}, nil
+		}, false},
+		{func(a, b api.Dfa) ([]int, error) { return []int{0, 1}, api.ErrNone }, false},
+		{func(a, b api.Dfa) ([]int, error) { return nil, nil }, false},
+	}
+	for i, c := range cases {
+		if sample.WordsAreNew(twoStates(), sample.Ring(1, 2), c.word) != c.new {
+			t.Errorf("function %d: WordsAreNew = %v", i, !c.new)
 		}
 	}
 }

@@ -6,6 +6,7 @@ import (
 	"errors"
 	"math"
 	"slices"
+	"strings"
 
 	"stileward/api"
 )
@@ -50,6 +51,40 @@ func Digits(text string) []int {
 		w[i] = int(text[i] - '0')
 	}
 	return w
+}
+
+// SetOf returns the set of the letters that are the digits of a text.
+func SetOf(text string) int {
+	set := 0
+	for _, letter := range Digits(text) {
+		set |= 1 << letter
+	}
+	return set
+}
+
+// Has tells whether a set contains a letter.
+func Has(set, letter int) bool { return set/(1<<letter)%2 == 1 }
+
+// Split returns the words of a text that are parted by spaces; there is a . for the empty one.
+func Split(text string) []string {
+	words := strings.Fields(text)
+	for i, w := range words {
+		if w == "." {
+			words[i] = ""
+		}
+	}
+	return words
+}
+
+// Some returns some of all words: about one of as many.
+func Some(below func(n int) int, all []string, of int) []string {
+	var words []string
+	for _, w := range all {
+		if below(of) == 0 {
+			words = append(words, w)
+		}
+	}
+	return words
 }
 
 // Words returns all words of at most n letters, in length-lexicographic order.

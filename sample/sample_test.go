@@ -5,6 +5,7 @@ import (
 	"maps"
 	"slices"
 	"strconv"
+	"strings"
 	"testing"
 
 	"stileward/api"
@@ -62,6 +63,65 @@ func TestDigits(t *testing.T) {
 	}
 	if got := sample.Digits(""); len(got) != 0 {
 		t.Errorf("Digits of no digit = %v", got)
+	}
+}
+
+// SetOf has the digits of a text, and Has finds them.
+func TestSetOf(t *testing.T) {
+	cases := []struct {
+		text string
+		want int
+	}{
+		{"", 0}, {"0", 1}, {"1", 2}, {"5", 32}, {"02", 5}, {"20", 5}, {"11", 2}, {"012345", 63},
+	}
+	for _, c := range cases {
+		got := sample.SetOf(c.text)
+		if got != c.want {
+			t.Errorf("SetOf(%q) = %d, want %d", c.text, got, c.want)
+		}
+		for letter := range 6 {
+			want := strings.Contains(c.text, strconv.Itoa(letter))
+			if sample.Has(got, letter) != want {
+				t.Errorf("Has(%d, %d) = %v, want %v", got, letter, !want, want)
+			}
+		}
+	}
+}
+
+// Split has a word for each part of a text.
+func TestSplit(t *testing.T) {
+	cases := []struct {
+		text string
+		want []string
+	}{
+		{"", nil}, {"0", []string{"0"}}, {".", []string{""}}, {"01 . 2 1", []string{"01", "", "2", "1"}},
+	}
+	for _, c := range cases {
+		if got := sample.Split(c.text); !slices.Equal(got, c.want) {
+			t.Errorf("Split(%q) = %q, want %q", c.text, got, c.want)
+		}
+	}
+}
+
+// Some has all words, or about every second or third one, in their order.
+func TestSome(t *testing.T) {
+	all := sample.Texts(9, "01")
+	if got := sample.Some(sample.Below(1), all, 1); !slices.Equal(got, all) {
+		t.Errorf("Some of all has %d words", len(got))
+	}
+	for of := 2; of <= 3; of++ {
+		got := sample.Some(sample.Below(1), all, of)
+		if n := len(all) / of; len(got) < n*8/10 || len(got) > n*12/10 {
+			t.Errorf("Some of 1 of %d has %d words of %d", of, len(got), len(all))
+		}
+		rest := all
+		for _, w := range got {
+			at := slices.Index(rest, w)
+			if at < 0 {
+				t.Fatalf("%q is none of all words, or not in their order", w)
+			}
+			rest = rest[at+1:]
+		}
 	}
 }
 

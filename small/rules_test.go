@@ -83,26 +83,12 @@ func TestWordsAreNew(t *testing.T) {
 		{rest(2, 6, 6), rest(2, 3, 3)},
 		{sample.Ring(0, 40), sample.NoneFinal(sample.Ring(0, 1))},
 	} {
-		a, intactA := sample.RoomyDfa(pair[0])
-		b, intactB := sample.RoomyDfa(pair[1])
-		_, first, err := small.Same(a, b)
-		want := slices.Clone(first)
-		sample.Fill(first, -1)
-		_, again, wrong := small.Same(a, b)
-		if !slices.Equal(again, want) || len(want) == 0 || err != nil || wrong != nil {
-			t.Errorf("Same(%v, %v) has first %v, %v and then %v, %v", a, b, want, err, again, wrong)
+		same := func(a, b api.Dfa) ([]int, error) {
+			_, w, err := small.Same(a, b)
+			return w, err
 		}
-		if !intactA() || !intactB() {
-			t.Errorf("the word of %v and %v shares memory with them", a, b)
-		}
-		sample.SpoilDfa(a, -100)
-		sample.SpoilDfa(b, -201)
-		if !slices.Equal(again, want) {
-			t.Errorf("the word became %v, want %v", again, want)
-		}
-		sample.Fill(again, -2)
-		if slices.Contains(first[:cap(first)], -2) {
-			t.Errorf("two words of %v and %v share memory", a, b)
+		if !sample.WordsAreNew(pair[0], pair[1], same) {
+			t.Errorf("words of Same(%v, %v) share memory", pair[0], pair[1])
 		}
 	}
 }

@@ -93,9 +93,9 @@ type given struct {
 // pairs are such as have a part that can be kept, and a word that leads out.
 func pairs() []given {
 	return []given{
-		{machines(), shelf(), setOf("13")},
-		{machines(), shelf(), setOf("1")},
-		{sample.Among(3, "", "0", "011", "012"), sample.Among(3, "", "0", "011"), setOf("2")},
+		{machines(), shelf(), sample.SetOf("13")},
+		{machines(), shelf(), sample.SetOf("1")},
+		{sample.Among(3, "", "0", "011", "012"), sample.Among(3, "", "0", "011"), sample.SetOf("2")},
 	}
 }
 
@@ -120,26 +120,12 @@ func TestMakeIsNew(t *testing.T) {
 // when the arguments do later.
 func TestWordsAreNew(t *testing.T) {
 	for _, c := range pairs() {
-		plant, intactPlant := sample.RoomyDfa(c.plant)
-		d, intactD := sample.RoomyDfa(c.spec)
-		_, first, err := super.Kept(plant, d, c.free)
-		want := slices.Clone(first)
-		sample.Fill(first, -1)
-		_, again, wrong := super.Kept(plant, d, c.free)
-		if !slices.Equal(again, want) || len(want) == 0 || err != nil || wrong != nil {
-			t.Errorf("Kept(%v, %v, %d) has first %v, %v and then %v, %v", plant, d, c.free, want, err, again, wrong)
+		kept := func(plant, d api.Dfa) ([]int, error) {
+			_, w, err := super.Kept(plant, d, c.free)
+			return w, err
 		}
-		if !intactPlant() || !intactD() {
-			t.Errorf("the word of %v and %v shares memory with them", plant, d)
-		}
-		sample.SpoilDfa(plant, -100)
-		sample.SpoilDfa(d, -201)
-		if !slices.Equal(again, want) {
-			t.Errorf("the word became %v, want %v", again, want)
-		}
-		sample.Fill(again, -2)
-		if slices.Contains(first[:cap(first)], -2) {
-			t.Errorf("two words of %v and %v share memory", plant, d)
+		if !sample.WordsAreNew(c.plant, c.spec, kept) {
+			t.Errorf("words of Kept(%v, %v, %d) share memory", c.plant, c.spec, c.free)
 		}
 	}
 }

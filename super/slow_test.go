@@ -36,9 +36,6 @@ func slowly(plant, d api.Dfa, free int) answers {
 	return answers{kept: !is, first: first, most: most, noMost: wrong}
 }
 
-// has tells whether a letter is in a set.
-func has(set, letter int) bool { return set/(1<<letter)%2 == 1 }
-
 // goOn tells for each state whether something is accepted from there.
 func goOn(d api.Dfa) []bool {
 	goes := make([]bool, len(d.Next))
@@ -64,7 +61,7 @@ func newSides(plant, d api.Dfa, free int) sides {
 
 // escapes tells whether a free letter leads out of what d begins, as the plant may go.
 func (x sides) escapes(s, t, letter int) bool {
-	return has(x.free, letter) && x.produces[x.plant.Next[s][letter]] && x.begun[t] && !x.begun[x.d.Next[t][letter]]
+	return sample.Has(x.free, letter) && x.produces[x.plant.Next[s][letter]] && x.begun[t] && !x.begun[x.d.Next[t][letter]]
 }
 
 // far is more letters than any escape needs.
@@ -163,7 +160,7 @@ func (x sides) ends(from duo, left map[duo]bool) bool {
 func (x sides) slips(from duo, left map[duo]bool) bool {
 	for letter := range x.plant.Letters {
 		next := x.by(from, letter)
-		if has(x.free, letter) && x.produces[next.s] && !left[next] {
+		if sample.Has(x.free, letter) && x.produces[next.s] && !left[next] {
 			return true
 		}
 	}

@@ -62,33 +62,6 @@ func accepted(plant, spec api.Dfa) (api.Dfa, bool) {
 	return both, err == nil
 }
 
-// isIn tells whether an automaton accepts all that another one does.
-func isIn(part, whole api.Dfa) bool {
-	return !slices.ContainsFunc(newSides(part, whole, 0).duos(), func(p duo) bool {
-		return part.Final[p.s] && !whole.Final[p.t]
-	})
-}
-
-// setOf returns the set of the letters of a text.
-func setOf(letters string) int {
-	set := 0
-	for _, letter := range sample.Digits(letters) {
-		set |= 1 << letter
-	}
-	return set
-}
-
-// split returns the words of a text; there is a . for the empty one.
-func split(text string) []string {
-	words := strings.Fields(text)
-	for i, w := range words {
-		if w == "." {
-			words[i] = ""
-		}
-	}
-	return words
-}
-
 // example is a plant and a policy of three letters by their words, what is free, the first word
 // that leads out (- if none does), and the words of the most that can be kept.
 type example struct {
@@ -152,16 +125,16 @@ func ofLeft() []example {
 func TestExamples(t *testing.T) {
 	for _, c := range slices.Concat(ofKept(), ofLeft()) {
 		t.Run(c.name, func(t *testing.T) {
-			want := answers{kept: c.first == "-", most: minimal(t, sample.Among(3, split(c.most)...))}
+			want := answers{kept: c.first == "-", most: minimal(t, sample.Among(3, sample.Split(c.most)...))}
 			if !want.kept {
 				want.first = sample.Digits(c.first)
 			}
 			if c.most == "" {
 				want.most, want.noMost = api.Dfa{}, api.ErrNone
 			}
-			plant, spec := sample.Among(3, split(c.plant)...), sample.Among(3, split(c.spec)...)
-			checkSlowly(t, plant, spec, setOf(c.free), want)
-			check(t, plant, spec, setOf(c.free), want)
+			plant, spec := sample.Among(3, sample.Split(c.plant)...), sample.Among(3, sample.Split(c.spec)...)
+			checkSlowly(t, plant, spec, sample.SetOf(c.free), want)
+			check(t, plant, spec, sample.SetOf(c.free), want)
 		})
 	}
 }
@@ -208,17 +181,17 @@ func TestMachines(t *testing.T) {
 		{"01", answers{first: []int{0, 1, 0, 1}, noMost: api.ErrNone}},
 	}
 	for _, c := range cases {
-		checkSlowly(t, machines(), shelf(), setOf(c.free), c.want)
-		check(t, machines(), shelf(), setOf(c.free), c.want)
+		checkSlowly(t, machines(), shelf(), sample.SetOf(c.free), c.want)
+		check(t, machines(), shelf(), sample.SetOf(c.free), c.want)
 	}
 	both, _ := accepted(machines(), shelf())
 	want := answers{kept: true, most: minimal(t, both)}
 	for _, free := range []string{"", "3", "0", "03"} {
-		check(t, machines(), shelf(), setOf(free), want)
+		check(t, machines(), shelf(), sample.SetOf(free), want)
 	}
 	want.most = careful
 	for _, free := range []string{"1", "13", "3", ""} {
-		check(t, machines(), careful, setOf(free), want)
+		check(t, machines(), careful, sample.SetOf(free), want)
 	}
 }
 
@@ -232,22 +205,11 @@ func begins(words []string, beginning string) bool {
 func leavesAt(all, plant, words []string, free int) (string, bool) {
 	for _, w := range all[1:] {
 		last := len(w) - 1
-		if begins(plant, w) && has(free, int(w[last]-'0')) && !begins(words, w) && begins(words, w[:last]) {
+		if begins(plant, w) && sample.Has(free, int(w[last]-'0')) && !begins(words, w) && begins(words, w[:last]) {
 			return w, true
 		}
 	}
 	return "", false
-}
-
-// some returns some of all words: about one of as many.
-func some(below func(n int) int, all []string, of int) []string {
-	var words []string
-	for _, w := range all {
-		if below(of) == 0 {
-			words = append(words, w)
-		}
-	}
-	return words
 }
 
 // 20.1, 20.2: of all sets of words that both accept, the functions find which ones are kept, and
@@ -258,7 +220,7 @@ func TestWords(t *testing.T) {
 	for seed := range uint64(1500) {
 		below := sample.Below(seed)
 		of := 1 + below(3)
-		plant, spec := some(below, all, of), some(below, all, 2)
+		plant, spec := sample.Some(below, all, of), sample.Some(below, all, 2)
 		free := below(4)
 		common := slices.DeleteFunc(slices.Clone(plant), func(w string) bool { return !slices.Contains(spec, w) })
 		if len(common) > 7 {
@@ -290,7 +252,7 @@ func checkSubsets(t *testing.T, all, plant, common []string, free int) []string 
 	for set := range 1 << len(common) {
 		var words []string
 		for i, w := range common {
-			if has(set, i) {
+			if sample.Has(set, i) {
 				words = append(words, w)
 			}
 		}
@@ -349,7 +311,7 @@ func mixed(seed uint64) (plant, spec api.Dfa, free int) {
 	below := sample.Below(seed + 1)
 	letters := 6 - min(below(6), below(6))
 	free = 1<<below(letters) | below(1<<letters)&below(1<<letters)
-	tears := func(letter int) bool { return has(free, letter) && below(2) > 0 || below(20) == 0 }
+	tears := func(letter int) bool { return sample.Has(free, letter) && below(2) > 0 || below(20) == 0 }
 	if seed%2 == 0 {
 		plant = torn(sample.Started(sample.Mixed(seed, 2+below(39), letters), 0), tears)
 		of := 3 + below(30)
@@ -403,7 +365,7 @@ func TestMost(t *testing.T) {
 		most, err := super.Make(plant, spec, free)
 		if err == nil {
 			isKept, w, wrong := super.Kept(plant, most, free)
-			if !isKept || w != nil || wrong != nil || !isIn(most, both) {
+			if !isKept || w != nil || wrong != nil || !sample.IsPart(most, both) {
 				t.Errorf("Make(%v, %v, %d) = %v; Kept of it = %v, %v, %v", plant, spec, free, most, isKept, w, wrong)
 			}
 			again, wrong := super.Make(plant, most, free)
@@ -426,14 +388,14 @@ func checkParts(t *testing.T, plant, both api.Dfa, free int, most api.Dfa, err e
 	for seed := range uint64(6) {
 		below := sample.Below(seed)
 		less := torn(both, func(int) bool { return below(6) == 0 })
-		if _, none := reach.First(less); none != nil || !isIn(less, both) {
+		if _, none := reach.First(less); none != nil || !sample.IsPart(less, both) {
 			continue
 		}
 		isKept, _, wrong := super.Kept(plant, less, free)
-		if isKept && (err != nil || !isIn(less, most)) || wrong != nil {
+		if isKept && (err != nil || !sample.IsPart(less, most)) || wrong != nil {
 			t.Errorf("of %v and %v, %d, %v is kept but no part of %v, %v", plant, both, free, less, most, err)
 		}
-		if isKept && err == nil && !isIn(most, less) {
+		if isKept && err == nil && !sample.IsPart(most, less) {
 			smaller++
 		}
 	}
@@ -489,7 +451,7 @@ func TestMoreFree(t *testing.T) {
 		}
 		for letter := range plant.Letters {
 			part, wrong := super.Make(plant, spec, free|1<<letter)
-			if err != nil && wrong == nil || wrong == nil && !isIn(part, most) {
+			if err != nil && wrong == nil || wrong == nil && !sample.IsPart(part, most) {
 				t.Errorf("Make(%v, %v, %d) = %v, %v, and if %d is free %v, %v", plant, spec, free, most, err, letter, part, wrong)
 			}
 			if wrong == nil && !sample.EqualDfas(part, most) {
@@ -499,7 +461,7 @@ func TestMoreFree(t *testing.T) {
 		more := sample.CloneDfa(spec)
 		more.Final[sample.Below(seed+6)(len(more.Final))] = true
 		whole, wrong := super.Make(plant, more, free)
-		if err == nil && (wrong != nil || !isIn(most, whole)) {
+		if err == nil && (wrong != nil || !sample.IsPart(most, whole)) {
 			t.Errorf("Make(%v, %v, %d) = %v, and of %v %v, %v", plant, spec, free, most, more, whole, wrong)
 		}
 	}
@@ -560,7 +522,7 @@ func (x sides) arena(all []duo) api.Arena {
 	for at, p := range all {
 		row := []int{at}
 		for letter := range x.plant.Letters {
-			if next := x.by(p, letter); has(x.free, letter) && x.produces[next.s] {
+			if next := x.by(p, letter); sample.Has(x.free, letter) && x.produces[next.s] {
 				row = append(row, slices.Index(all, next))
 			}
 		}

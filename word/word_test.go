@@ -1,6 +1,7 @@
 package word_test
 
 import (
+	"maps"
 	"math"
 	"slices"
 	"testing"
@@ -35,6 +36,60 @@ func TestCheckPlaces(t *testing.T) {
 					}
 				}
 			}
+		}
+	}
+}
+
+// 4.1: a set of letters is a number that is the sum of the values of some letters, and it has these.
+func TestSets(t *testing.T) {
+	for letters := 1; letters <= 6; letters++ {
+		sums := map[int]bool{0: true}
+		for letter := range letters {
+			for set := range maps.Clone(sums) {
+				sums[set+1<<letter] = true
+			}
+		}
+		for set := -130; set <= 130; set++ {
+			if got := word.IsSet(letters, set); got != sums[set] {
+				t.Errorf("IsSet(%d, %d) = %v", letters, set, got)
+			}
+		}
+		for set := range sums {
+			sum := 0
+			for letter := range letters {
+				if word.Has(set, letter) {
+					sum += 1 << letter
+				}
+			}
+			if sum != set {
+				t.Errorf("the letters of %d are those of %d", set, sum)
+			}
+			for _, number := range append(noLetters, letters) {
+				if word.Has(set, number) {
+					t.Errorf("%d has %d", set, number)
+				}
+			}
+		}
+	}
+}
+
+// 4.1: there is no set of numbers that are no letters, and none of no alphabet.
+func TestNoSets(t *testing.T) {
+	for _, number := range []int{math.MinInt, math.MinInt + 1, -1 << 32, 1 << 32, 1<<32 + 1, 1 << 62, math.MaxInt} {
+		for letters := 1; letters <= 6; letters++ {
+			if word.IsSet(letters, number) {
+				t.Errorf("%d is a set of %d letters", number, letters)
+			}
+		}
+		for _, set := range []int{-1, 0, 1, number} {
+			if word.IsSet(number, set) {
+				t.Errorf("%d is a set of %d letters", set, number)
+			}
+		}
+	}
+	for _, letters := range []int{-64, -1, 0, 7, 63, 64} {
+		if word.IsSet(letters, 0) || word.IsSet(letters, 1) {
+			t.Errorf("there are sets of %d letters", letters)
 		}
 	}
 }
